@@ -1,0 +1,197 @@
+package value
+
+import (
+	"math"
+	"strings"
+	"testing"
+
+	"chirograph/api"
+)
+
+func null() api.Value          { return api.Value{} }
+func boolean(i int) api.Value  { return api.Value{Kind: api.Bool, Int: i} }
+func number(i int) api.Value   { return api.Value{Kind: api.Int, Int: i} }
+func real(f float64) api.Value { return bits(math.Float64bits(f)) }
+func bits(b uint64) api.Value  { return api.Value{Kind: api.Real, Bits: b} }
+func text(s string) api.Value  { return api.Value{Kind: api.Text, Text: s} }
+func long(n int) string        { return strings.Repeat("x", n) }
+
+// rising values, each ahead of all behind it.
+func rising() []api.Value {
+	return []api.Value{
+		null(),
+		boolean(0), boolean(1),
+		number(math.MinInt), number(math.MinInt + 1), number(-1), number(0), number(1), number(3),
+		number(1 << 53), number(1<<53 + 1), number(math.MaxInt - 1), number(math.MaxInt),
+		real(math.Inf(-1)), real(-math.MaxFloat64), real(-2), real(-1.5), real(-math.SmallestNonzeroFloat64), real(0),
+		real(math.SmallestNonzeroFloat64), real(0.5), real(1.5), real(2), real(10), real(math.MaxFloat64), real(math.Inf(1)),
+		text(""), text("\x00"), text("\x00\x00"), text("\x01"), text("A"), text("B"), text("Ba"), text("a"), text("a\x00"), text("a "), text("ab"),
+		text("aba"), text("b"), text("z"), text("é"), text("\uffff"), text("\U00010000"), text("\U0010ffff"),
+	}
+}
+
+func sign(n int) int {
+	if n < 0 {
+		return -1
+	}
+	if n > 0 {
+		return 1
+	}
+	return 0
+}
+
+// TestCheckTakes: P1.1, values that may be.
+func TestCheckTakes(t *testing.T) {
+	good := append(rising(), text(long(api.MaxText)), text(strings.Repeat("é", api.MaxText/2)), bits(1), bits(1<<63|1), bits(0x7ff0000000000000), bits(0xfff0000000000000))
+	for _, v := range good {
+		if e := Check(v); e != api.OK {
+			t.Errorf("Check(%+v) = %d, want 0", v, e)
+		}
+	}
+}
+
+// refused: a value that may not be, and why.
+type refused struct {
+	v    api.Value
+	want api.Errno
+}
+
+func refusedValues() []refused {
+	tooLong := long(api.MaxText + 1)
+	var l []refused
+	for _, k := range []int{-1, 5, math.MinInt, math.MaxInt} {
+		l = append(l, refused{api.Value{Kind: k}, api.ErrKind}, refused{api.Value{Kind: k, Text: tooLong}, api.ErrKind}, refused{api.Value{Kind: k, Int: 2, Bits: 1, Text: "\xff"}, api.ErrKind})
+	}
+	for k := api.Null; k <= api.Text; k++ {
+		l = append(l, refused{api.Value{Kind: k, Text: tooLong}, api.ErrSize}, refused{api.Value{Kind: k, Int: 2, Bits: 1 << 63, Text: tooLong}, api.ErrSize})
+		if k != api.Bool && k != api.Int {
+			l = append(l, refused{api.Value{Kind: k, Int: 1}, api.ErrForm}, refused{api.Value{Kind: k, Int: math.MinInt}, api.ErrForm})
+		}
+		if k != api.Real {
+			l = append(l, refused{api.Value{Kind: k, Bits: 1}, api.ErrForm}, refused{api.Value{Kind: k, Bits: 1 << 63}, api.ErrForm})
+		}
+		if k != api.Text {
+			l = append(l, refused{api.Value{Kind: k, Text: "a"}, api.ErrForm}, refused{api.Value{Kind: k, Text: long(api.MaxText)}, api.ErrForm})
+		}
+	}
+	for _, i := range []int{2, -1, math.MinInt, math.MaxInt} {
+		l = append(l, refused{boolean(i), api.ErrForm})
+	}
+	for _, b := range []uint64{1 << 63, 0x7ff8000000000000, 0x7ff0000000000001, 0xfff8000000000000, 0xfff0000000000001, math.MaxUint64} {
+		l = append(l, refused{bits(b), api.ErrForm})
+	}
+	for _, s := range []string{"\xc3", "a\xff", "\x80", "\xc0\x80", "\xed\xa0\x80", "\xf4\x90\x80\x80", long(api.MaxText-1) + "\xc3"} {
+		l = append(l, refused{text(s), api.ErrForm})
+	}
+	return append(l, refused{text(long(api.MaxText) + "\xc3"), api.ErrSize}, refused{text(strings.Repeat("é", api.MaxText/2) + "x"), api.ErrSize})
+}
+
+// TestCheckRefuses: P1.1, each error and which one stands first.
+func TestCheckRefuses(t *testing.T) {
+	for _, r := range refusedValues() {
+		if e := Check(r.v); e != r.want {
+			t.Errorf("Check(%+v) = %d, want %d", r.v, e, r.want)
+		}
+	}
+}
+
+// TestCompare: P1.2 and P1.6, each of many values against each.
+func TestCompare(t *testing.T) {
+	l := rising()
+	for i, a := range l {
+		for j, b := range l {
+			if n, e := Compare(a, b); n != sign(i-j) || e != api.OK {
+				t.Errorf("Compare(%+v, %+v) = %d %d, want %d 0", a, b, n, e, sign(i-j))
+			}
+		}
+	}
+}
+
+// TestEqualAndLess: P1.3 and P1.4, each of many values against each.
+func TestEqualAndLess(t *testing.T) {
+	l := rising()
+	for i, a := range l {
+		for j, b := range l {
+			equal, less, want := api.No, api.No, api.OK
+			if a.Kind == api.Null || b.Kind == api.Null {
+				equal, less = api.Unknown, api.Unknown
+			} else if a.Kind != b.Kind {
+				want = api.ErrKind
+			} else if i == j {
+				equal = api.Yes
+			} else if i < j {
+				less = api.Yes
+			}
+			if n, e := Equal(a, b); n != equal || e != want {
+				t.Errorf("Equal(%+v, %+v) = %d %d, want %d %d", a, b, n, e, equal, want)
+			}
+			if n, e := Less(a, b); n != less || e != want {
+				t.Errorf("Less(%+v, %+v) = %d %d, want %d %d", a, b, n, e, less, want)
+			}
+		}
+	}
+}
+
+// TestTwoRefused: P1.2 to P1.4 refuse what Check does, the first one first, ahead of nulls and of Kinds that differ.
+func TestTwoRefused(t *testing.T) {
+	calls := map[string]func(a, b api.Value) (int, api.Errno){"Compare": Compare, "Equal": Equal, "Less": Less}
+	for name, call := range calls {
+		for _, r := range refusedValues() {
+			for _, v := range []api.Value{null(), boolean(1), number(3), real(1.5), text("a")} {
+				if n, e := call(r.v, v); n != 0 || e != r.want {
+					t.Errorf("%s(%+v, %+v) = %d %d, want 0 %d", name, r.v, v, n, e, r.want)
+				}
+				if n, e := call(v, r.v); n != 0 || e != r.want {
+					t.Errorf("%s(%+v, %+v) = %d %d, want 0 %d", name, v, r.v, n, e, r.want)
+				}
+			}
+			for _, s := range refusedValues() {
+				if n, e := call(r.v, s.v); n != 0 || e != r.want {
+					t.Errorf("%s(%+v, %+v) = %d %d, want 0 %d", name, r.v, s.v, n, e, r.want)
+				}
+			}
+		}
+	}
+}
+
+// TestTruths: P1.5, all truths.
+func TestTruths(t *testing.T) {
+	const n, u, y = api.No, api.Unknown, api.Yes
+	for _, c := range []struct{ a, b, and, or int }{
+		{n, n, n, n}, {n, u, n, u}, {n, y, n, y},
+		{u, n, n, u}, {u, u, u, u}, {u, y, u, y},
+		{y, n, n, y}, {y, u, u, y}, {y, y, y, y},
+	} {
+		if got, e := And(c.a, c.b); got != c.and || e != api.OK {
+			t.Errorf("And(%d, %d) = %d %d, want %d 0", c.a, c.b, got, e, c.and)
+		}
+		if got, e := Or(c.a, c.b); got != c.or || e != api.OK {
+			t.Errorf("Or(%d, %d) = %d %d, want %d 0", c.a, c.b, got, e, c.or)
+		}
+	}
+	for _, c := range []struct{ a, want int }{{n, y}, {u, u}, {y, n}} {
+		if got, e := Not(c.a); got != c.want || e != api.OK {
+			t.Errorf("Not(%d) = %d %d, want %d 0", c.a, got, e, c.want)
+		}
+	}
+}
+
+// TestNoTruths: P1.5, what is none is refused, even beside a truth that is decisive.
+func TestNoTruths(t *testing.T) {
+	others := []int{api.No, api.Unknown, api.Yes, -1, 3, math.MinInt, math.MaxInt}
+	for _, bad := range []int{-1, 3, math.MinInt, math.MaxInt} {
+		for _, b := range others {
+			for name, call := range map[string]func(a, b int) (int, api.Errno){"And": And, "Or": Or} {
+				if got, e := call(bad, b); got != 0 || e != api.ErrKind {
+					t.Errorf("%s(%d, %d) = %d %d, want 0 %d", name, bad, b, got, e, api.ErrKind)
+				}
+				if got, e := call(b, bad); got != 0 || e != api.ErrKind {
+					t.Errorf("%s(%d, %d) = %d %d, want 0 %d", name, b, bad, got, e, api.ErrKind)
+				}
+			}
+		}
+		if got, e := Not(bad); got != 0 || e != api.ErrKind {
+			t.Errorf("Not(%d) = %d %d, want 0 %d", bad, got, e, api.ErrKind)
+		}
+	}
+}
