@@ -8,16 +8,9 @@ import (
 	"testing"
 
 	"chirograph/api"
+	"chirograph/sample"
 	"chirograph/value"
 )
-
-func null() api.Value          { return api.Value{} }
-func boolean(i int) api.Value  { return api.Value{Kind: api.Bool, Int: i} }
-func number(i int) api.Value   { return api.Value{Kind: api.Int, Int: i} }
-func real(f float64) api.Value { return bits(math.Float64bits(f)) }
-func bits(b uint64) api.Value  { return api.Value{Kind: api.Real, Bits: b} }
-func text(s string) api.Value  { return api.Value{Kind: api.Text, Text: s} }
-func long(n int) string        { return strings.Repeat("x", n) }
 
 // inverse of bytes: what they are where their column goes down.
 func inverse(b []byte) []byte {
@@ -37,42 +30,42 @@ type written struct {
 // rising values with their bytes, each ahead of all behind it.
 func rising() []written {
 	return []written{
-		{null(), []byte{1}},
-		{boolean(0), []byte{2, 0}},
-		{boolean(1), []byte{2, 1}},
-		{number(math.MinInt), []byte{3, 0, 0, 0, 0, 0, 0, 0, 0}},
-		{number(math.MinInt + 1), []byte{3, 0, 0, 0, 0, 0, 0, 0, 1}},
-		{number(-256), []byte{3, 127, 255, 255, 255, 255, 255, 255, 0}},
-		{number(-1), []byte{3, 127, 255, 255, 255, 255, 255, 255, 255}},
-		{number(0), []byte{3, 128, 0, 0, 0, 0, 0, 0, 0}},
-		{number(1), []byte{3, 128, 0, 0, 0, 0, 0, 0, 1}},
-		{number(0x102030405060708), []byte{3, 129, 2, 3, 4, 5, 6, 7, 8}},
-		{number(math.MaxInt), []byte{3, 255, 255, 255, 255, 255, 255, 255, 255}},
-		{bits(0xfff0000000000000), []byte{4, 0, 15, 255, 255, 255, 255, 255, 255}},
-		{real(-math.MaxFloat64), []byte{4, 0, 16, 0, 0, 0, 0, 0, 0}},
-		{real(-2), []byte{4, 63, 255, 255, 255, 255, 255, 255, 255}},
-		{real(-1), []byte{4, 64, 15, 255, 255, 255, 255, 255, 255}},
-		{bits(1<<63 | 1), []byte{4, 127, 255, 255, 255, 255, 255, 255, 254}},
-		{real(0), []byte{4, 128, 0, 0, 0, 0, 0, 0, 0}},
-		{bits(1), []byte{4, 128, 0, 0, 0, 0, 0, 0, 1}},
-		{real(1), []byte{4, 191, 240, 0, 0, 0, 0, 0, 0}},
-		{bits(0x4008102030405060), []byte{4, 192, 8, 16, 32, 48, 64, 80, 96}},
-		{bits(0x7ff0000000000000), []byte{4, 255, 240, 0, 0, 0, 0, 0, 0}},
-		{text(""), []byte{5, 0, 1}},
-		{text("\x00"), []byte{5, 0, 255, 0, 1}},
-		{text("\x00\x00"), []byte{5, 0, 255, 0, 255, 0, 1}},
-		{text("\x00\x01"), []byte{5, 0, 255, 1, 0, 1}},
-		{text("\x00a"), []byte{5, 0, 255, 97, 0, 1}},
-		{text("\x01"), []byte{5, 1, 0, 1}},
-		{text("a"), []byte{5, 97, 0, 1}},
-		{text("a\x00"), []byte{5, 97, 0, 255, 0, 1}},
-		{text("a\x00b"), []byte{5, 97, 0, 255, 98, 0, 1}},
-		{text("a\x01"), []byte{5, 97, 1, 0, 1}},
-		{text("ab"), []byte{5, 97, 98, 0, 1}},
-		{text("b"), []byte{5, 98, 0, 1}},
-		{text(long(api.MaxText)), append(append([]byte{5}, long(api.MaxText)...), 0, 1)},
-		{text("\u00e9"), []byte{5, 195, 169, 0, 1}},
-		{text("\U0010ffff"), []byte{5, 244, 143, 191, 191, 0, 1}},
+		{sample.Null(), []byte{1}},
+		{sample.Bool(0), []byte{2, 0}},
+		{sample.Bool(1), []byte{2, 1}},
+		{sample.Int(math.MinInt), []byte{3, 0, 0, 0, 0, 0, 0, 0, 0}},
+		{sample.Int(math.MinInt + 1), []byte{3, 0, 0, 0, 0, 0, 0, 0, 1}},
+		{sample.Int(-256), []byte{3, 127, 255, 255, 255, 255, 255, 255, 0}},
+		{sample.Int(-1), []byte{3, 127, 255, 255, 255, 255, 255, 255, 255}},
+		{sample.Int(0), []byte{3, 128, 0, 0, 0, 0, 0, 0, 0}},
+		{sample.Int(1), []byte{3, 128, 0, 0, 0, 0, 0, 0, 1}},
+		{sample.Int(0x102030405060708), []byte{3, 129, 2, 3, 4, 5, 6, 7, 8}},
+		{sample.Int(math.MaxInt), []byte{3, 255, 255, 255, 255, 255, 255, 255, 255}},
+		{sample.Bits(0xfff0000000000000), []byte{4, 0, 15, 255, 255, 255, 255, 255, 255}},
+		{sample.Real(-math.MaxFloat64), []byte{4, 0, 16, 0, 0, 0, 0, 0, 0}},
+		{sample.Real(-2), []byte{4, 63, 255, 255, 255, 255, 255, 255, 255}},
+		{sample.Real(-1), []byte{4, 64, 15, 255, 255, 255, 255, 255, 255}},
+		{sample.Bits(1<<63 | 1), []byte{4, 127, 255, 255, 255, 255, 255, 255, 254}},
+		{sample.Real(0), []byte{4, 128, 0, 0, 0, 0, 0, 0, 0}},
+		{sample.Bits(1), []byte{4, 128, 0, 0, 0, 0, 0, 0, 1}},
+		{sample.Real(1), []byte{4, 191, 240, 0, 0, 0, 0, 0, 0}},
+		{sample.Bits(0x4008102030405060), []byte{4, 192, 8, 16, 32, 48, 64, 80, 96}},
+		{sample.Bits(0x7ff0000000000000), []byte{4, 255, 240, 0, 0, 0, 0, 0, 0}},
+		{sample.Text(""), []byte{5, 0, 1}},
+		{sample.Text("\x00"), []byte{5, 0, 255, 0, 1}},
+		{sample.Text("\x00\x00"), []byte{5, 0, 255, 0, 255, 0, 1}},
+		{sample.Text("\x00\x01"), []byte{5, 0, 255, 1, 0, 1}},
+		{sample.Text("\x00a"), []byte{5, 0, 255, 97, 0, 1}},
+		{sample.Text("\x01"), []byte{5, 1, 0, 1}},
+		{sample.Text("a"), []byte{5, 97, 0, 1}},
+		{sample.Text("a\x00"), []byte{5, 97, 0, 255, 0, 1}},
+		{sample.Text("a\x00b"), []byte{5, 97, 0, 255, 98, 0, 1}},
+		{sample.Text("a\x01"), []byte{5, 97, 1, 0, 1}},
+		{sample.Text("ab"), []byte{5, 97, 98, 0, 1}},
+		{sample.Text("b"), []byte{5, 98, 0, 1}},
+		{sample.Text(sample.Long(api.MaxText)), append(append([]byte{5}, sample.Long(api.MaxText)...), 0, 1)},
+		{sample.Text("\u00e9"), []byte{5, 195, 169, 0, 1}},
+		{sample.Text("\U0010ffff"), []byte{5, 244, 143, 191, 191, 0, 1}},
 	}
 }
 
@@ -143,7 +136,7 @@ func TestColumns(t *testing.T) {
 
 // TestBitsBeyondTheRow: P2.1, they say nothing; a number below 0 is 64 bits.
 func TestBitsBeyondTheRow(t *testing.T) {
-	row := []api.Value{number(7), text("a\x00"), null()}
+	row := []api.Value{sample.Int(7), sample.Text("a\x00"), sample.Null()}
 	for _, c := range []struct{ down, same int }{
 		{8, 0}, {1 << 5, 0}, {1<<40 | 2, 2}, {math.MinInt, 0}, {math.MinInt + 5, 5}, {-1, 7}, {-2, 6}, {-8, 0}, {-3, 5}, {math.MaxInt, 7},
 	} {
@@ -164,13 +157,13 @@ func TestEncodeRefuses(t *testing.T) {
 		want api.Errno
 	}{
 		{api.Value{Kind: -1}, api.ErrKind}, {api.Value{Kind: 5}, api.ErrKind}, {api.Value{Kind: math.MaxInt}, api.ErrKind},
-		{text(long(api.MaxText + 1)), api.ErrSize}, {api.Value{Text: long(api.MaxText + 1)}, api.ErrSize},
-		{boolean(2), api.ErrForm}, {boolean(-1), api.ErrForm}, {boolean(257), api.ErrForm}, {bits(1 << 63), api.ErrForm},
-		{real(math.NaN()), api.ErrForm}, {text("\xff"), api.ErrForm}, {api.Value{Int: 1}, api.ErrForm},
+		{sample.Text(sample.Long(api.MaxText + 1)), api.ErrSize}, {api.Value{Text: sample.Long(api.MaxText + 1)}, api.ErrSize},
+		{sample.Bool(2), api.ErrForm}, {sample.Bool(-1), api.ErrForm}, {sample.Bool(257), api.ErrForm}, {sample.Bits(1 << 63), api.ErrForm},
+		{sample.Real(math.NaN()), api.ErrForm}, {sample.Text("\xff"), api.ErrForm}, {api.Value{Int: 1}, api.ErrForm},
 	} {
 		for n := 1; n <= api.MaxCols; n++ {
 			for i := range n {
-				row := slices.Repeat([]api.Value{number(3)}, n)
+				row := slices.Repeat([]api.Value{sample.Int(3)}, n)
 				row[i] = c.v
 				for _, down := range []int{0, -1} {
 					if b, e := Encode(row, down); e != c.want || len(b) != 0 {
@@ -184,7 +177,7 @@ func TestEncodeRefuses(t *testing.T) {
 
 // TestEncodeOrderOfErrors: P2.1, too many values ahead of what they are; of two wrong ones the first one.
 func TestEncodeOrderOfErrors(t *testing.T) {
-	noKind, tooLong, noForm := api.Value{Kind: 9}, text(long(api.MaxText+1)), boolean(2)
+	noKind, tooLong, noForm := api.Value{Kind: 9}, sample.Text(sample.Long(api.MaxText+1)), sample.Bool(2)
 	for _, c := range []struct {
 		row  []api.Value
 		want api.Errno
@@ -194,8 +187,8 @@ func TestEncodeOrderOfErrors(t *testing.T) {
 		{slices.Repeat([]api.Value{noKind}, api.MaxCols+1), api.ErrSize},
 		{slices.Repeat([]api.Value{noKind}, api.MaxCols), api.ErrKind},
 		{[]api.Value{noForm, noKind, tooLong}, api.ErrForm},
-		{[]api.Value{null(), noKind, tooLong, noForm}, api.ErrKind},
-		{[]api.Value{null(), null(), tooLong, noForm, noKind}, api.ErrSize},
+		{[]api.Value{sample.Null(), noKind, tooLong, noForm}, api.ErrKind},
+		{[]api.Value{sample.Null(), sample.Null(), tooLong, noForm, noKind}, api.ErrSize},
 	} {
 		if b, e := Encode(c.row, 0); e != c.want || len(b) != 0 {
 			t.Errorf("Encode(%+v) = %v %d, want none %d", c.row, b, e, c.want)
@@ -294,7 +287,7 @@ func TestDecodeKinds(t *testing.T) {
 				mustRefuse(t, b, 1, down, want)
 			}
 			if want == api.ErrForm {
-				mustRefuse(t, append(slices.Clone(b), encoded(t, []api.Value{number(1), null()}, -down)...), 3, -down, want)
+				mustRefuse(t, append(slices.Clone(b), encoded(t, []api.Value{sample.Int(1), sample.Null()}, -down)...), 3, -down, want)
 			}
 		}
 	}
@@ -306,7 +299,7 @@ func TestDecodeMarks(t *testing.T) {
 		for down, b := range bothWays([]byte{5, 97, 0, byte(c)}) {
 			switch c {
 			case 1:
-				if row, e := Decode(b, 1, down); e != api.OK || len(row) != 1 || row[0] != text("a") {
+				if row, e := Decode(b, 1, down); e != api.OK || len(row) != 1 || row[0] != sample.Text("a") {
 					t.Errorf("Decode(%v, 1, %d) = %+v %d", b, down, row, e)
 				}
 			case 255:
@@ -320,7 +313,7 @@ func TestDecodeMarks(t *testing.T) {
 
 // TestDecodeLongTexts: P2.3, a byte too many is told as soon as it is there, and not ahead of that.
 func TestDecodeLongTexts(t *testing.T) {
-	full := "\x05" + long(api.MaxText)
+	full := "\x05" + sample.Long(api.MaxText)
 	noughts := "\x05" + strings.Repeat("\x00\xff", api.MaxText)
 	for _, c := range []struct {
 		b    string
@@ -332,9 +325,9 @@ func TestDecodeLongTexts(t *testing.T) {
 		{full + "\x00\xff", api.ErrSize}, {noughts + "\x00\xff", api.ErrSize},
 		{full + "y", api.ErrSize}, {full + "y\x00\x01", api.ErrSize}, {full + "y\x00\x07", api.ErrSize}, {noughts + "\x01", api.ErrSize},
 		{full + "\x00\xff\x00\x01", api.ErrSize}, {full + "\xff", api.ErrSize}, {full + "\x01\x00\x01", api.ErrSize},
-		{"\x05" + long(api.MaxText*20), api.ErrSize}, {"\x05" + strings.Repeat("\xff", api.MaxText+1), api.ErrSize},
+		{"\x05" + sample.Long(api.MaxText*20), api.ErrSize}, {"\x05" + strings.Repeat("\xff", api.MaxText+1), api.ErrSize},
 		{"\x05" + strings.Repeat("\xff", api.MaxText), api.ErrShort}, {"\x05" + strings.Repeat("\xff", api.MaxText) + "\x00\x01", api.ErrForm},
-		{"\x05\xff\x00\x07" + long(api.MaxText), api.ErrForm},
+		{"\x05\xff\x00\x07" + sample.Long(api.MaxText), api.ErrForm},
 	} {
 		for down, b := range bothWays([]byte(c.b)) {
 			row, e := Decode(b, 1, down)
@@ -371,7 +364,7 @@ func TestDecodeWhatMayNotBe(t *testing.T) {
 
 // TestDecodeOrderOfErrors: P2.3, value by value.
 func TestDecodeOrderOfErrors(t *testing.T) {
-	tooLong := append([]byte{5}, long(api.MaxText+1)...)
+	tooLong := append([]byte{5}, sample.Long(api.MaxText+1)...)
 	for _, c := range []struct {
 		first, rest []byte
 		want        api.Errno
@@ -420,7 +413,7 @@ func TestOnlyOneWay(t *testing.T) {
 
 // TestListsStayApart: what is handed in stays as it is, and answers share no memory, spare room neither.
 func TestListsStayApart(t *testing.T) {
-	room := []api.Value{text("a\x00"), number(4), real(2), boolean(1), null()}
+	room := []api.Value{sample.Text("a\x00"), sample.Int(4), sample.Real(2), sample.Bool(1), sample.Null()}
 	before := slices.Clone(room)
 	one, two := encoded(t, room[:3], -1), encoded(t, room[:3], -1)
 	kept := slices.Clone(two)
@@ -438,7 +431,7 @@ func TestListsStayApart(t *testing.T) {
 	}
 	spoil(bytesIn)
 	for i := range rowOne[:cap(rowOne)] {
-		rowOne[:cap(rowOne)][i] = text("spoilt")
+		rowOne[:cap(rowOne)][i] = sample.Text("spoilt")
 	}
 	if !slices.Equal(rowTwo, before[:3]) {
 		t.Errorf("an answer of Decode shares its values: %+v", rowTwo)

@@ -6,27 +6,20 @@ import (
 	"testing"
 
 	"chirograph/api"
+	"chirograph/sample"
 )
-
-func null() api.Value          { return api.Value{} }
-func boolean(i int) api.Value  { return api.Value{Kind: api.Bool, Int: i} }
-func number(i int) api.Value   { return api.Value{Kind: api.Int, Int: i} }
-func real(f float64) api.Value { return bits(math.Float64bits(f)) }
-func bits(b uint64) api.Value  { return api.Value{Kind: api.Real, Bits: b} }
-func text(s string) api.Value  { return api.Value{Kind: api.Text, Text: s} }
-func long(n int) string        { return strings.Repeat("x", n) }
 
 // rising values, each ahead of all behind it.
 func rising() []api.Value {
 	return []api.Value{
-		null(),
-		boolean(0), boolean(1),
-		number(math.MinInt), number(math.MinInt + 1), number(-1), number(0), number(1), number(3),
-		number(1 << 53), number(1<<53 + 1), number(math.MaxInt - 1), number(math.MaxInt),
-		real(math.Inf(-1)), real(-math.MaxFloat64), real(-2), real(-1.5), real(-math.SmallestNonzeroFloat64), real(0),
-		real(math.SmallestNonzeroFloat64), real(0.5), real(1.5), real(2), real(10), real(math.MaxFloat64), real(math.Inf(1)),
-		text(""), text("\x00"), text("\x00\x00"), text("\x01"), text("A"), text("B"), text("Ba"), text("a"), text("a\x00"), text("a "), text("ab"),
-		text("aba"), text("b"), text("z"), text("é"), text("\uffff"), text("\U00010000"), text("\U0010ffff"),
+		sample.Null(),
+		sample.Bool(0), sample.Bool(1),
+		sample.Int(math.MinInt), sample.Int(math.MinInt + 1), sample.Int(-1), sample.Int(0), sample.Int(1), sample.Int(3),
+		sample.Int(1 << 53), sample.Int(1<<53 + 1), sample.Int(math.MaxInt - 1), sample.Int(math.MaxInt),
+		sample.Real(math.Inf(-1)), sample.Real(-math.MaxFloat64), sample.Real(-2), sample.Real(-1.5), sample.Real(-math.SmallestNonzeroFloat64), sample.Real(0),
+		sample.Real(math.SmallestNonzeroFloat64), sample.Real(0.5), sample.Real(1.5), sample.Real(2), sample.Real(10), sample.Real(math.MaxFloat64), sample.Real(math.Inf(1)),
+		sample.Text(""), sample.Text("\x00"), sample.Text("\x00\x00"), sample.Text("\x01"), sample.Text("A"), sample.Text("B"), sample.Text("Ba"), sample.Text("a"), sample.Text("a\x00"), sample.Text("a "), sample.Text("ab"),
+		sample.Text("aba"), sample.Text("b"), sample.Text("z"), sample.Text("é"), sample.Text("\uffff"), sample.Text("\U00010000"), sample.Text("\U0010ffff"),
 	}
 }
 
@@ -42,7 +35,7 @@ func sign(n int) int {
 
 // TestCheckTakes: P1.1, values that may be.
 func TestCheckTakes(t *testing.T) {
-	good := append(rising(), text(long(api.MaxText)), text(strings.Repeat("é", api.MaxText/2)), bits(1), bits(1<<63|1), bits(0x7ff0000000000000), bits(0xfff0000000000000))
+	good := append(rising(), sample.Text(sample.Long(api.MaxText)), sample.Text(strings.Repeat("é", api.MaxText/2)), sample.Bits(1), sample.Bits(1<<63|1), sample.Bits(0x7ff0000000000000), sample.Bits(0xfff0000000000000))
 	for _, v := range good {
 		if e := Check(v); e != api.OK {
 			t.Errorf("Check(%+v) = %d, want 0", v, e)
@@ -57,7 +50,7 @@ type refused struct {
 }
 
 func refusedValues() []refused {
-	tooLong := long(api.MaxText + 1)
+	tooLong := sample.Long(api.MaxText + 1)
 	var l []refused
 	for _, k := range []int{-1, 5, math.MinInt, math.MaxInt} {
 		l = append(l, refused{api.Value{Kind: k}, api.ErrKind}, refused{api.Value{Kind: k, Text: tooLong}, api.ErrKind}, refused{api.Value{Kind: k, Int: 2, Bits: 1, Text: "\xff"}, api.ErrKind})
@@ -71,19 +64,19 @@ func refusedValues() []refused {
 			l = append(l, refused{api.Value{Kind: k, Bits: 1}, api.ErrForm}, refused{api.Value{Kind: k, Bits: 1 << 63}, api.ErrForm})
 		}
 		if k != api.Text {
-			l = append(l, refused{api.Value{Kind: k, Text: "a"}, api.ErrForm}, refused{api.Value{Kind: k, Text: long(api.MaxText)}, api.ErrForm})
+			l = append(l, refused{api.Value{Kind: k, Text: "a"}, api.ErrForm}, refused{api.Value{Kind: k, Text: sample.Long(api.MaxText)}, api.ErrForm})
 		}
 	}
 	for _, i := range []int{2, -1, math.MinInt, math.MaxInt} {
-		l = append(l, refused{boolean(i), api.ErrForm})
+		l = append(l, refused{sample.Bool(i), api.ErrForm})
 	}
 	for _, b := range []uint64{1 << 63, 0x7ff8000000000000, 0x7ff0000000000001, 0xfff8000000000000, 0xfff0000000000001, math.MaxUint64} {
-		l = append(l, refused{bits(b), api.ErrForm})
+		l = append(l, refused{sample.Bits(b), api.ErrForm})
 	}
-	for _, s := range []string{"\xc3", "a\xff", "\x80", "\xc0\x80", "\xed\xa0\x80", "\xf4\x90\x80\x80", long(api.MaxText-1) + "\xc3"} {
-		l = append(l, refused{text(s), api.ErrForm})
+	for _, s := range []string{"\xc3", "a\xff", "\x80", "\xc0\x80", "\xed\xa0\x80", "\xf4\x90\x80\x80", sample.Long(api.MaxText-1) + "\xc3"} {
+		l = append(l, refused{sample.Text(s), api.ErrForm})
 	}
-	return append(l, refused{text(long(api.MaxText) + "\xc3"), api.ErrSize}, refused{text(strings.Repeat("é", api.MaxText/2) + "x"), api.ErrSize})
+	return append(l, refused{sample.Text(sample.Long(api.MaxText) + "\xc3"), api.ErrSize}, refused{sample.Text(strings.Repeat("é", api.MaxText/2) + "x"), api.ErrSize})
 }
 
 // TestCheckRefuses: P1.1, each error and which one stands first.
@@ -137,7 +130,7 @@ func TestTwoRefused(t *testing.T) {
 	calls := map[string]func(a, b api.Value) (int, api.Errno){"Compare": Compare, "Equal": Equal, "Less": Less}
 	for name, call := range calls {
 		for _, r := range refusedValues() {
-			for _, v := range []api.Value{null(), boolean(1), number(3), real(1.5), text("a")} {
+			for _, v := range []api.Value{sample.Null(), sample.Bool(1), sample.Int(3), sample.Real(1.5), sample.Text("a")} {
 				if n, e := call(r.v, v); n != 0 || e != r.want {
 					t.Errorf("%s(%+v, %+v) = %d %d, want 0 %d", name, r.v, v, n, e, r.want)
 				}
