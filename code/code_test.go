@@ -8,6 +8,7 @@ import (
 	"testing"
 
 	"chirograph/api"
+	"chirograph/numeral"
 	"chirograph/sample"
 	"chirograph/value"
 )
@@ -345,7 +346,7 @@ func TestDecodeWhatMayNotBe(t *testing.T) {
 		wrong = append(wrong, []byte{2, byte(c)})
 	}
 	for _, b := range []uint64{1 << 63, 0x7ff8000000000000, 0x7ff0000000000001, 0x7fffffffffffffff, 0xfff8000000000000, 0xfff0000000000001, math.MaxUint64} {
-		wrong = append(wrong, appendNumber([]byte{4}, rankOfReal(b)))
+		wrong = append(wrong, numeral.Append([]byte{4}, rankOfReal(b), 8))
 	}
 	for _, s := range []string{"\xff", "a\xc3", "\x80", "\xc0\x80", "\xed\xa0\x80", "\xf4\x90\x80\x80", "\xc3\x00\xff\xa9"} {
 		wrong = append(wrong, append([]byte("\x05"+s), 0, 1))
@@ -417,7 +418,7 @@ func TestListsStayApart(t *testing.T) {
 	before := slices.Clone(room)
 	one, two := encoded(t, room[:3], -1), encoded(t, room[:3], -1)
 	kept := slices.Clone(two)
-	spoil(one)
+	sample.Spoil(one)
 	if !bytes.Equal(two, kept) || !slices.Equal(room, before) {
 		t.Errorf("an answer of Encode shares its bytes, or the row was changed: %v %+v", two, room)
 	}
@@ -429,18 +430,11 @@ func TestListsStayApart(t *testing.T) {
 	if !bytes.Equal(bytesIn, bytesBefore) {
 		t.Errorf("Decode changed its bytes: %v", bytesIn)
 	}
-	spoil(bytesIn)
+	sample.Spoil(bytesIn)
 	for i := range rowOne[:cap(rowOne)] {
 		rowOne[:cap(rowOne)][i] = sample.Text("spoilt")
 	}
 	if !slices.Equal(rowTwo, before[:3]) {
 		t.Errorf("an answer of Decode shares its values: %+v", rowTwo)
-	}
-}
-
-// spoil bytes, with their spare room.
-func spoil(b []byte) {
-	for i := range b[:cap(b)] {
-		b[:cap(b)][i] = 77
 	}
 }

@@ -1,4 +1,4 @@
-// Package sample: values for the tests of all layers, in short. The program itself does not use it.
+// Package sample: values and bytes for the tests of all layers, in short. The program itself does not use it.
 package sample
 
 import (
@@ -28,3 +28,19 @@ func Text(s string) api.Value { return api.Value{Kind: api.Text, Text: s} }
 
 // Long is a string of n bytes.
 func Long(n int) string { return strings.Repeat("x", n) }
+
+// Bytes are n bytes: each block of 64 another one, none of them 0.
+func Bytes(n int) []byte {
+	b := make([]byte, n)
+	for i := range b {
+		b[i] = byte(i*7+i/64)%255 + 1
+	}
+	return b
+}
+
+// Spoil bytes, with their spare room, so that others that share their memory are seen to change.
+func Spoil(b []byte) {
+	for i := range b[:cap(b)] {
+		b[:cap(b)][i] = 77
+	}
+}

@@ -14,18 +14,10 @@ import (
 	"testing"
 
 	"chirograph/api"
+	"chirograph/sample"
 )
 
 const most = 1 << 60
-
-// some bytes, n of them: each block another one, none of them 0.
-func some(n int) []byte {
-	b := make([]byte, n)
-	for i := range b {
-		b[i] = byte(i*7+i/64)%255 + 1
-	}
-	return b
-}
 
 // with is the stream behind s and b, which must be told.
 func with(t *testing.T, s api.Stream, b []byte) api.Stream {
@@ -91,10 +83,10 @@ func libraryEnd(t *testing.T, s api.Stream) [32]byte {
 	return [32]byte(d.Sum(nil))
 }
 
-// long is a stream of n bytes, the ones behind the last whole block from some; that its H is what bytes make nobody asks.
+// long is a stream of n bytes, the ones behind the last whole block from sample; that its H is what bytes make nobody asks.
 func long(n int) api.Stream {
 	s := api.Stream{H: [8]uint32{1, 2, 3, 1 << 31, math.MaxUint32, 0, 7, 0x12345678}, N: n % 64, Len: n}
-	copy(s.Held[:], some(s.N))
+	copy(s.Held[:], sample.Bytes(s.N))
 	return s
 }
 
@@ -113,7 +105,7 @@ func TestBegin(t *testing.T) {
 
 // TestStreams: P3.1 and P3.2, each field of a stream, at all lengths around whole blocks.
 func TestStreams(t *testing.T) {
-	b := some(300)
+	b := sample.Bytes(300)
 	for n := range len(b) + 1 {
 		s := with(t, Begin(), b[:n])
 		if want := libraryStream(t, b[:n]); s != want {
@@ -124,7 +116,7 @@ func TestStreams(t *testing.T) {
 
 // TestStreamOfABlock: P3.1, a whole block is not held: no byte of it stays behind.
 func TestStreamOfABlock(t *testing.T) {
-	s := with(t, with(t, Begin(), some(63)), some(1))
+	s := with(t, with(t, Begin(), sample.Bytes(63)), sample.Bytes(1))
 	if s.N != 0 || s.Len != 64 || s.Held != [64]byte{} || s.H == Begin().H {
 		t.Errorf("the stream of a block = %+v", s)
 	}
@@ -137,7 +129,7 @@ func TestStreamOfABlock(t *testing.T) {
 // TestParts: P3.2, bytes may come in any two parts, and one by one.
 func TestParts(t *testing.T) {
 	for _, n := range []int{0, 1, 63, 64, 65, 127, 128, 129, 200} {
-		b := some(n)
+		b := sample.Bytes(n)
 		want := libraryStream(t, b)
 		for k := range n + 1 {
 			if s := with(t, with(t, Begin(), b[:k]), b[k:]); s != want {
@@ -207,7 +199,7 @@ func TestWrongStreams(t *testing.T) {
 	for _, s := range wrongStreams() {
 		mustRefuse(t, s, nil, api.ErrState)
 		mustRefuse(t, s, []byte{1}, api.ErrState)
-		mustRefuse(t, s, some(200), api.ErrState)
+		mustRefuse(t, s, sample.Bytes(200), api.ErrState)
 		if h, e := End(s); e != api.ErrState || h != [32]byte{} {
 			t.Errorf("End(%+v) = %v %d, want none 11", s, h, e)
 		}
@@ -238,7 +230,7 @@ func TestTooMany(t *testing.T) {
 		{most - 64, 64, api.OK}, {most - 64, 65, api.ErrSize}, {most - 65, 65, api.OK}, {most - 65, 66, api.ErrSize},
 		{most - 500, 499, api.OK}, {most - 500, 500, api.OK}, {most - 500, 501, api.ErrSize},
 	} {
-		s, b := long(c.have), some(c.more)
+		s, b := long(c.have), sample.Bytes(c.more)
 		if c.want != api.OK {
 			mustRefuse(t, s, b, c.want)
 			s.Held[s.N] = 1
@@ -293,7 +285,7 @@ func TestSums(t *testing.T) {
 
 // TestSumsOfAllLengths: P3.3 and P3.4, where the last block is full, and where it is too full for the number of bits.
 func TestSumsOfAllLengths(t *testing.T) {
-	b := some(520)
+	b := sample.Bytes(520)
 	for n := range len(b) + 1 {
 		want := sha256.Sum256(b[:n])
 		if got := Sum(b[:n]); got != want {
@@ -335,7 +327,7 @@ func TestMacs(t *testing.T) {
 
 // TestMacsOfAllKeys: P3.5, a key of one block goes in as it is, a longer one by its sum.
 func TestMacsOfAllKeys(t *testing.T) {
-	all := some(200)
+	all := sample.Bytes(200)
 	for k := range 140 {
 		for _, n := range []int{0, 1, 32, 55, 56, 63, 64, 65, 128, 200} {
 			key, b := all[:k], all[200-n:]
@@ -395,7 +387,7 @@ func TestCrcsOfAllBytes(t *testing.T) {
 			t.Errorf("Crc(%v) = %08x, want %08x", b, got, want)
 		}
 	}
-	b := some(320)
+	b := sample.Bytes(320)
 	for n := range len(b) + 1 {
 		if got, want := Crc(b[:n]), crc32.Checksum(b[:n], table); got != want {
 			t.Errorf("Crc of %d bytes = %08x, want %08x", n, got, want)
@@ -405,7 +397,7 @@ func TestCrcsOfAllBytes(t *testing.T) {
 
 // TestNothingIsKept: lists stay as they are, their spare room too, and each call answers what it answered ahead of others.
 func TestNothingIsKept(t *testing.T) {
-	room := some(400)
+	room := sample.Bytes(400)
 	before := slices.Clone(room)
 	for _, n := range []int{0, 1, 55, 63, 64, 65, 130} {
 		key, b := room[:n], room[200:200+n]
@@ -424,13 +416,13 @@ func TestNothingIsKept(t *testing.T) {
 
 // TestStreamsStayApart: a stream is its own, whatever becomes of the bytes that were added or of another stream.
 func TestStreamsStayApart(t *testing.T) {
-	b := some(70)
+	b := sample.Bytes(70)
 	s := with(t, Begin(), b)
 	want := s
 	clear(b)
 	other := s
 	other.Held[0]++
-	if s != want || s != libraryStream(t, some(70)) {
+	if s != want || s != libraryStream(t, sample.Bytes(70)) {
 		t.Error("a stream hangs on lists outside it")
 	}
 }
