@@ -16,9 +16,6 @@ import (
 // wrongTags there are not, some of them a tag by their lowest byte.
 var wrongTags = []int{0, -1, 10, 11, 255, 256, 257, 265, 1 << 32, 1<<32 + 1, -255, math.MinInt, math.MinInt + 1, math.MaxInt}
 
-// wrongModes there are not, some of them a mode by their lowest byte.
-var wrongModes = []int{0, -1, -2, 3, 4, 257, 258, 1<<32 + 1, math.MinInt, math.MinInt + 1, math.MaxInt}
-
 // written: a frame and what it is of, written out by hand.
 type written struct {
 	tag   int
@@ -87,18 +84,13 @@ func mustNotParse(t *testing.T, b []byte, want api.Errno) {
 	}
 }
 
-// sameParts tells whether two lists have the same parts; nil is as good as none.
-func sameParts(a, b [][]byte) bool {
-	return slices.EqualFunc(a, b, bytes.Equal)
-}
-
 // TestFrames: P4.1, and back by P4.2.
 func TestFrames(t *testing.T) {
 	for _, w := range frames() {
 		if got := framed(t, w.tag, w.parts); !bytes.Equal(got, w.frame) {
 			t.Errorf("Frame(%d, %v) = %v, want %v", w.tag, w.parts, got, w.frame)
 		}
-		if tag, parts, e := Parse(w.frame); e != api.OK || tag != w.tag || !sameParts(parts, w.parts) {
+		if tag, parts, e := Parse(w.frame); e != api.OK || tag != w.tag || !sample.SameParts(parts, w.parts) {
 			t.Errorf("Parse(%v) = %d %v %d, want %d %v 0", w.frame, tag, parts, e, w.tag, w.parts)
 		}
 	}
@@ -140,7 +132,7 @@ func TestLongFrames(t *testing.T) {
 		if len(b) != api.MaxTerm {
 			t.Fatalf("the frame of %d parts has %d bytes, want %d", n, len(b), api.MaxTerm)
 		}
-		if tag, got, e := Parse(b); e != api.OK || tag != 2 || !sameParts(got, parts) {
+		if tag, got, e := Parse(b); e != api.OK || tag != 2 || !sample.SameParts(got, parts) {
 			t.Errorf("the longest frame of %d parts is parsed as %d, %d parts, %d", n, tag, len(got), e)
 		}
 		for i := range parts {
@@ -314,7 +306,7 @@ func TestDigests(t *testing.T) {
 
 // TestDigestModes: P4.3, ErrKind ahead of all that Frame refuses.
 func TestDigestModes(t *testing.T) {
-	for _, mode := range wrongModes {
+	for _, mode := range sample.WrongModes() {
 		for _, tag := range append([]int{1, 9}, wrongTags...) {
 			for _, parts := range [][][]byte{nil, {{1}}, make([][]byte, 9), {make([]byte, api.MaxTerm)}} {
 				if d, e := Digest(mode, tag, parts); e != api.ErrKind || len(d) > 0 {
@@ -397,7 +389,7 @@ func TestSaltRefuses(t *testing.T) {
 			}
 		}
 	}
-	for _, mode := range wrongModes {
+	for _, mode := range sample.WrongModes() {
 		for _, n := range []int{0, 1, 16, 17, 1000} {
 			refused(mode, n, api.ErrKind)
 		}
@@ -425,7 +417,7 @@ func TestInputsStay(t *testing.T) {
 			t.Errorf("in mode %d the same is told in two ways", mode)
 		}
 	}
-	if !bytes.Equal(room, before) || !sameParts(list, was) || len(list[1]) != 0 {
+	if !bytes.Equal(room, before) || !sample.SameParts(list, was) || len(list[1]) != 0 {
 		t.Errorf("what was handed in is changed: %v %v", room, list)
 	}
 	copy(room, whole)
@@ -472,12 +464,12 @@ func TestPartsStayApart(t *testing.T) {
 			}
 		}
 	}
-	if !bytes.Equal(b, whole) || !sameParts(two, want) {
+	if !bytes.Equal(b, whole) || !sample.SameParts(two, want) {
 		t.Errorf("parts share their bytes with the frame %v or with those of another call %v", b, two)
 	}
 	sample.Spoil(b)
 	clear(one[:cap(one)])
-	if !sameParts(two, want) {
+	if !sample.SameParts(two, want) {
 		t.Errorf("parts share their bytes with the frame: %v", two)
 	}
 }

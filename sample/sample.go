@@ -2,7 +2,9 @@
 package sample
 
 import (
+	"bytes"
 	"math"
+	"slices"
 	"strings"
 
 	"chirograph/api"
@@ -36,6 +38,16 @@ func Bytes(n int) []byte {
 		b[i] = byte(i*7+i/64)%255 + 1
 	}
 	return b
+}
+
+// WrongModes of digests there are not, some of them a mode by their lowest byte.
+func WrongModes() []int {
+	return []int{0, -1, -2, 3, 4, 257, 258, 1<<32 + 1, math.MinInt, math.MinInt + 1, math.MaxInt}
+}
+
+// SameParts tells whether two lists have the same parts; nil is as good as none.
+func SameParts(a, b [][]byte) bool {
+	return slices.EqualFunc(a, b, bytes.Equal)
 }
 
 // Spoil bytes, with their spare room, so that others that share their memory are seen to change.
