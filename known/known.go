@@ -7,3 +7,8 @@ import "chirograph/api"
 func Mode(mode int) bool {
 	return mode == api.Hashed || mode == api.Open
 }
+
+// Place tells whether a list of n has such a place.
+func Place(i, n int) bool {
+	return i >= 0 && i < n
+}

@@ -40,9 +40,19 @@ func Bytes(n int) []byte {
 	return b
 }
 
+// Modes of digests that there are.
+func Modes() []int {
+	return []int{api.Hashed, api.Open}
+}
+
 // WrongModes of digests there are not, some of them a mode by their lowest byte.
 func WrongModes() []int {
 	return []int{0, -1, -2, 3, 4, 257, 258, 1<<32 + 1, math.MinInt, math.MinInt + 1, math.MaxInt}
+}
+
+// WrongPlaces that a list of n has not, some of them a place by their lowest bytes.
+func WrongPlaces(n int) []int {
+	return []int{-1, -2, -n - 1, n, n + 1, 2 * n, n << 8, n << 32, math.MinInt, math.MinInt + 1, math.MaxInt}
 }
 
 // SameParts tells whether two lists have the same parts; nil is as good as none.
@@ -55,4 +65,58 @@ func Spoil(b []byte) {
 	for i := range b[:cap(b)] {
 		b[:cap(b)][i] = 77
 	}
+}
+
+// Apart tells whether the lists of an answer share no bytes, spare room neither, with each other or with those of another call.
+func Apart(of func() [][]byte) bool {
+	other := of()
+	kept := Copies(other)
+	for i := range kept {
+		l := of()
+		Spoil(l[i])
+		l[i] = kept[i]
+		if !SameParts(l, kept) {
+			return false
+		}
+	}
+	return SameParts(other, kept) && SameParts(of(), kept)
+}
+
+// Copies of lists of bytes, which share nothing with them.
+func Copies(l [][]byte) [][]byte {
+	copies := make([][]byte, len(l))
+	for i, b := range l {
+		copies[i] = bytes.Clone(b)
+	}
+	return copies
+}
+
+// OtherBytes than b, which has at least one: one bit of the first or last one changed, one byte less or more.
+func OtherBytes(b []byte) [][]byte {
+	first, last := slices.Clone(b), slices.Clone(b)
+	first[0] ^= 128
+	last[len(b)-1] ^= 1
+	return [][]byte{first, last, b[1:], b[:len(b)-1], append(slices.Clone(b), 0), append([]byte{0}, b...)}
+}
+
+// OtherPaths than a path to a root.
+func OtherPaths(path [][]byte, root []byte) [][][]byte {
+	l := [][][]byte{
+		append(slices.Clone(path), nil), append(slices.Clone(path), root), append([][]byte{nil}, path...),
+		slices.Concat(path, make([][]byte, 64)), slices.Concat(path, make([][]byte, 256)), make([][]byte, 1000),
+	}
+	for i := range path {
+		for _, b := range append(OtherBytes(path[i]), nil) {
+			other := slices.Clone(path)
+			other[i] = b
+			l = append(l, other)
+		}
+		l = append(l, slices.Delete(slices.Clone(path), i, i+1))
+		if i > 0 {
+			other := slices.Clone(path)
+			other[i], other[i-1] = other[i-1], other[i]
+			l = append(l, other)
+		}
+	}
+	return l
 }

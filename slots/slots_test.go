@@ -12,9 +12,6 @@ import (
 	"chirograph/sample"
 )
 
-// modes that there are.
-var modes = []int{api.Hashed, api.Open}
-
 // numbers of slots that a tree may have.
 var numbers = []int{1, 2, 4, 8, 16, 32, 64}
 
@@ -125,11 +122,6 @@ func wrongNumbers() []int {
 	return l
 }
 
-// wrongPlaces that n slots have not.
-func wrongPlaces(n int) []int {
-	return []int{-1, -2, -n, n, n + 1, 2 * n, 256, 1 << 32, math.MinInt, math.MinInt + 1, math.MaxInt}
-}
-
 func sameSlots(a, b []api.Slot) bool {
 	return slices.EqualFunc(a, b, func(a, b api.Slot) bool {
 		return a.Full == b.Full && bytes.Equal(a.Salt, b.Salt) && bytes.Equal(a.Data, b.Data)
@@ -154,7 +146,7 @@ func mustNotRoot(t *testing.T, mode int, l []api.Slot, want api.Errno) {
 	if b, e := Root(mode, l); e != want || len(b) > 0 {
 		t.Errorf("Root(%d, %d slots) = %d bytes %d, want none %d", mode, len(l), len(b), e, want)
 	}
-	for _, i := range append([]int{0, len(l) - 1}, wrongPlaces(len(l))...) {
+	for _, i := range append([]int{0, len(l) - 1}, sample.WrongPlaces(len(l))...) {
 		mustNotPath(t, mode, l, i, want)
 	}
 	for _, n := range []int{len(l), 0, 1, len(l) + 1} {
@@ -209,7 +201,7 @@ func TestLeavesWritten(t *testing.T) {
 
 // TestLeaves: P5.1, of slots with salts and data of all lengths that may be.
 func TestLeaves(t *testing.T) {
-	for _, mode := range modes {
+	for _, mode := range sample.Modes() {
 		for salt := range 81 {
 			for data := range 401 {
 				s := api.Slot{Full: true, Salt: sample.Bytes(salt), Data: sample.Bytes(data)}
@@ -229,7 +221,7 @@ func TestLeaves(t *testing.T) {
 func TestLeafRefuses(t *testing.T) {
 	for want, l := range wrongSlots() {
 		for _, s := range l {
-			for _, mode := range modes {
+			for _, mode := range sample.Modes() {
 				mustNotLeaf(t, mode, s, want)
 			}
 			for _, mode := range sample.WrongModes() {
@@ -268,7 +260,7 @@ func TestRootsWritten(t *testing.T) {
 
 // TestRoots: P5.2, of each number of slots, in both modes.
 func TestRoots(t *testing.T) {
-	for _, mode := range modes {
+	for _, mode := range sample.Modes() {
 		for _, n := range numbers {
 			for _, l := range [][]api.Slot{someSlots(n), make([]api.Slot, n)} {
 				if got, e := Root(mode, l); e != api.OK || !bytes.Equal(got, rootOf(mode, l)) {
@@ -283,7 +275,7 @@ func TestRoots(t *testing.T) {
 func TestRootNumbers(t *testing.T) {
 	for _, n := range wrongNumbers() {
 		l := make([]api.Slot, n)
-		for _, mode := range modes {
+		for _, mode := range sample.Modes() {
 			mustNotRoot(t, mode, l, api.ErrSize)
 		}
 		mustNotRoot(t, 0, l, api.ErrKind)
@@ -292,7 +284,7 @@ func TestRootNumbers(t *testing.T) {
 		}
 		l[n-1] = api.Slot{Data: []byte{1}}
 		l[0] = l[n-1]
-		for _, mode := range modes {
+		for _, mode := range sample.Modes() {
 			mustNotRoot(t, mode, l, api.ErrSize)
 		}
 	}
@@ -335,7 +327,7 @@ func TestRootWrongSlots(t *testing.T) {
 
 // TestPaths: P5.3, of each place, and P5.4, that they lead to the root.
 func TestPaths(t *testing.T) {
-	for _, mode := range modes {
+	for _, mode := range sample.Modes() {
 		for _, n := range numbers {
 			l := someSlots(n)
 			root := rootOf(mode, l)
@@ -367,10 +359,10 @@ func TestPathWritten(t *testing.T) {
 
 // TestPathPlaces: P5.3, ErrRange; P5.4, too, ahead of what Leaf refuses.
 func TestPathPlaces(t *testing.T) {
-	for _, mode := range modes {
+	for _, mode := range sample.Modes() {
 		for _, n := range numbers {
 			l := someSlots(n)
-			for _, i := range wrongPlaces(n) {
+			for _, i := range sample.WrongPlaces(n) {
 				mustNotPath(t, mode, l, i, api.ErrRange)
 				for _, s := range []api.Slot{l[0], l[n-1], {Data: []byte{1}}, {Salt: sample.Bytes(81)}} {
 					if e := CheckPath(mode, rootOf(mode, l), n, i, s, pathOf(mode, l, 0)); e != api.ErrRange {
@@ -384,7 +376,7 @@ func TestPathPlaces(t *testing.T) {
 
 // TestNothingElseProved: P5.4, what comes of it: of slots no two of which are alike each is proved at its place, by its path, in its tree alone.
 func TestNothingElseProved(t *testing.T) {
-	for _, mode := range modes {
+	for _, mode := range sample.Modes() {
 		for _, n := range []int{1, 2, 4, 8} {
 			l := someSlots(16)
 			root := rootOf(mode, l[:n])
@@ -407,7 +399,7 @@ func TestNothingElseProved(t *testing.T) {
 
 // TestCheckPathSlots: P5.4, a slot of which one thing is changed is not proved.
 func TestCheckPathSlots(t *testing.T) {
-	for _, mode := range modes {
+	for _, mode := range sample.Modes() {
 		l := []api.Slot{{Full: true, Salt: []byte{1, 2}, Data: []byte{3, 4}}, {Salt: []byte{1}}}
 		for i, others := range [][]api.Slot{
 			{{Full: true, Salt: []byte{1}, Data: []byte{2, 3, 4}}, {Full: true, Salt: []byte{1, 2}, Data: []byte{3}}, {Full: true, Salt: []byte{1, 2}}, {Salt: []byte{1, 2}}, {Full: true, Data: []byte{3, 4}}, {}},
@@ -424,18 +416,18 @@ func TestCheckPathSlots(t *testing.T) {
 
 // TestCheckPathDigests: P5.4, by one digest more or less, by other ones, in another order, or to another root nothing is proved.
 func TestCheckPathDigests(t *testing.T) {
-	for _, mode := range modes {
+	for _, mode := range sample.Modes() {
 		for _, n := range numbers {
 			l := someSlots(n)
 			root := rootOf(mode, l)
 			for _, i := range []int{0, n / 2, n - 1} {
 				path := pathOf(mode, l, i)
-				for _, other := range otherPaths(path, root) {
+				for _, other := range sample.OtherPaths(path, root) {
 					if e := CheckPath(mode, root, n, i, l[i], other); e != api.ErrProof {
 						t.Errorf("CheckPath(%d, the root, %d, %d, the slot, another path of %d) = %d, want 10", mode, n, i, len(other), e)
 					}
 				}
-				for _, other := range append(otherBytes(root), leafOf(mode, api.Slot{}), nil) {
+				for _, other := range append(sample.OtherBytes(root), leafOf(mode, api.Slot{}), nil) {
 					if e := CheckPath(mode, other, n, i, l[i], path); e != api.ErrProof {
 						t.Errorf("CheckPath(%d, another root, %d, %d, the slot, its path) = %d, want 10", mode, n, i, e)
 					}
@@ -443,36 +435,6 @@ func TestCheckPathDigests(t *testing.T) {
 			}
 		}
 	}
-}
-
-// otherBytes than b: one bit of the first or last one changed, one byte less or more.
-func otherBytes(b []byte) [][]byte {
-	first, last := slices.Clone(b), slices.Clone(b)
-	first[0] ^= 128
-	last[len(b)-1] ^= 1
-	return [][]byte{first, last, b[1:], b[:len(b)-1], append(slices.Clone(b), 0), append([]byte{0}, b...)}
-}
-
-// otherPaths than a path to a root.
-func otherPaths(path [][]byte, root []byte) [][][]byte {
-	l := [][][]byte{
-		append(slices.Clone(path), nil), append(slices.Clone(path), root), append([][]byte{nil}, path...),
-		slices.Concat(path, make([][]byte, 64)), slices.Concat(path, make([][]byte, 256)), make([][]byte, 1000),
-	}
-	for i := range path {
-		for _, b := range append(otherBytes(path[i]), nil) {
-			other := slices.Clone(path)
-			other[i] = b
-			l = append(l, other)
-		}
-		l = append(l, slices.Delete(slices.Clone(path), i, i+1))
-		if i > 0 {
-			other := slices.Clone(path)
-			other[i], other[i-1] = other[i-1], other[i]
-			l = append(l, other)
-		}
-	}
-	return l
 }
 
 // TestCheckPathNumbers: P5.4, of another number of slots nothing is proved; ErrSize, if there is no tree of so many, ahead of ErrRange.
@@ -511,7 +473,7 @@ func TestCheckPathOrder(t *testing.T) {
 	paths := [][][]byte{nil, {nil}, {{1}, {2}, {3}}, {{1}, make([]byte, api.MaxTerm), {3}}, make([][]byte, 9)}
 	for want, l := range wrongSlots() {
 		for _, s := range l {
-			for _, mode := range modes {
+			for _, mode := range sample.Modes() {
 				for _, path := range paths {
 					if e := CheckPath(mode, nil, 8, 5, s, path); e != want {
 						t.Errorf("CheckPath(%d, no root, 8, 5, wrong, a path of %d) = %d, want %d", mode, len(path), e, want)
@@ -524,7 +486,7 @@ func TestCheckPathOrder(t *testing.T) {
 
 // TestCheckPathNotMade: P5.4, ErrProof, if a digest on the way is too long to be made, whatever root is asked for.
 func TestCheckPathNotMade(t *testing.T) {
-	for _, mode := range modes {
+	for _, mode := range sample.Modes() {
 		leaf := leafOf(mode, api.Slot{})
 		most := sample.Bytes(api.MaxTerm - 10 - len(leaf))
 		for i, root := range [][]byte{digest(mode, 2, leaf, most), digest(mode, 2, most, leaf)} {
@@ -582,7 +544,7 @@ func openings(n int) [][]bool {
 
 // TestCovers: P5.5, and P5.6, that they have the root of the slots.
 func TestCovers(t *testing.T) {
-	for _, mode := range modes {
+	for _, mode := range sample.Modes() {
 		for _, n := range numbers {
 			l := someSlots(n)
 			root := rootOf(mode, l)
@@ -621,7 +583,7 @@ func TestCoversWritten(t *testing.T) {
 
 // TestCoverRefuses: P5.5, ErrSize, if it is said of more or fewer slots.
 func TestCoverRefuses(t *testing.T) {
-	for _, mode := range modes {
+	for _, mode := range sample.Modes() {
 		for _, n := range numbers {
 			for _, m := range []int{0, n - 1, n + 1, n / 2, 2 * n, 64 + n, 1000} {
 				if m != n {
@@ -636,7 +598,7 @@ func TestCoverRefuses(t *testing.T) {
 
 // TestRootedCounts: P5.6, ErrProof, if the cover has more or fewer slots or digests than it is said of, the one in place of the other, too.
 func TestRootedCounts(t *testing.T) {
-	for _, mode := range modes {
+	for _, mode := range sample.Modes() {
 		for _, n := range []int{1, 2, 4, 8, 64} {
 			l := someSlots(n)
 			for _, open := range openings(n) {
@@ -667,7 +629,7 @@ func otherCovers(c api.Cover) []api.Cover {
 
 // TestRootedOthers: P5.6, as many slots and digests, but other ones, or in another order, have another root.
 func TestRootedOthers(t *testing.T) {
-	for _, mode := range modes {
+	for _, mode := range sample.Modes() {
 		l := someSlots(8)
 		root := rootOf(mode, l)
 		for _, open := range openings(8) {
@@ -684,7 +646,7 @@ func TestRootedOthers(t *testing.T) {
 			}
 			for i := range c.Rest {
 				other := slices.Clone(c.Rest)
-				other[i] = otherBytes(other[i])[i%6]
+				other[i] = sample.OtherBytes(other[i])[i%6]
 				mustRootElse(t, mode, open, api.Cover{Open: c.Open, Rest: other}, root)
 				other = slices.Clone(c.Rest)
 				other[i], other[0] = other[0], other[i]
@@ -707,7 +669,7 @@ func mustRootElse(t *testing.T, mode int, open []bool, c api.Cover, root []byte)
 // TestRootedClosed: P5.6, with no slot open the root is the digest of the cover, whatever it is.
 func TestRootedClosed(t *testing.T) {
 	digests := [][]byte{nil, {}, {1}, sample.Bytes(32), sample.Bytes(api.MaxTerm + 1)}
-	for _, mode := range modes {
+	for _, mode := range sample.Modes() {
 		for _, n := range numbers {
 			for _, d := range digests {
 				if got, e := Rooted(mode, make([]bool, n), api.Cover{Rest: [][]byte{d}}); e != api.OK || !bytes.Equal(got, d) {
@@ -728,7 +690,7 @@ func TestRootedRefuses(t *testing.T) {
 			}
 		}
 		for _, n := range wrongNumbers() {
-			for _, mode := range modes {
+			for _, mode := range sample.Modes() {
 				mustNotRooted(t, mode, make([]bool, n), c, api.ErrSize)
 				mustNotRooted(t, mode, slices.Repeat([]bool{true}, n), c, api.ErrSize)
 			}
@@ -739,7 +701,7 @@ func TestRootedRefuses(t *testing.T) {
 
 // TestRootedNotMade: P5.6, ErrProof for a slot that Leaf refuses, at each place, and for digests that are too long.
 func TestRootedNotMade(t *testing.T) {
-	for _, mode := range modes {
+	for _, mode := range sample.Modes() {
 		for _, wrong := range wrongSlots() {
 			for _, s := range wrong {
 				mustNotRooted(t, mode, []bool{true}, api.Cover{Open: []api.Slot{s}}, api.ErrProof)
@@ -783,7 +745,7 @@ func TestInputsStay(t *testing.T) {
 	openAll := []bool{false, true, false, false, true, true, false, false, true, false, true, false}
 	l, open := all[:8], openAll[:8]
 	slotsBefore, openBefore := slices.Clone(all), slices.Clone(openAll)
-	for _, mode := range modes {
+	for _, mode := range sample.Modes() {
 		root, _ := Root(mode, l)
 		path, _ := Path(mode, l, 5)
 		given := append(slices.Clone(path), []byte{5}, []byte{6})
@@ -815,19 +777,12 @@ func TestInputsStay(t *testing.T) {
 	}
 }
 
-// spoilAll lists with their spare room.
-func spoilAll(lists [][]byte) {
-	for _, b := range lists {
-		sample.Spoil(b)
-	}
-}
-
 // TestAnswersStayApart: answers share no memory, spare room neither, with what is handed in, with each other, or list by list.
 func TestAnswersStayApart(t *testing.T) {
 	l := someSlots(8)
 	open := []bool{2: true, 3: true, 7: true}
 	rest := [][]byte{sample.Bytes(32)}
-	for _, mode := range modes {
+	for _, mode := range sample.Modes() {
 		for name, of := range map[string]func() [][]byte{
 			"Leaf":   func() [][]byte { b, _ := Leaf(mode, l[0]); return [][]byte{b} },
 			"Root":   func() [][]byte { b, _ := Root(mode, l); return [][]byte{b} },
@@ -847,21 +802,7 @@ func TestAnswersStayApart(t *testing.T) {
 				return [][]byte{b}
 			},
 		} {
-			one, two := of(), of()
-			var kept [][]byte
-			for _, b := range two {
-				kept = append(kept, slices.Clone(b))
-			}
-			for i := range one {
-				sample.Spoil(one[i])
-				for j := i + 1; j < len(one); j++ {
-					if !bytes.Equal(one[j], kept[j]) {
-						t.Errorf("lists %d and %d of an answer of %s share their bytes", i, j, name)
-					}
-				}
-			}
-			spoilAll(one)
-			if !sample.SameParts(two, kept) || !sample.SameParts(of(), kept) {
+			if !sample.Apart(of) {
 				t.Errorf("an answer of %s shares its bytes", name)
 			}
 		}
