@@ -1,4 +1,4 @@
-// Package sample: values and bytes for the tests of all layers, in short. The program itself does not use it.
+// Package sample: values, tokens and bytes for the tests of all layers, in short. The program itself does not use it.
 package sample
 
 import (
@@ -27,6 +27,24 @@ func Bits(b uint64) api.Value { return api.Value{Kind: api.Real, Bits: b} }
 
 // Text is a text.
 func Text(s string) api.Value { return api.Value{Kind: api.Text, Text: s} }
+
+// Name is a token, as all up to Sign.
+func Name(s string) api.Token { return api.Token{Kind: api.Name, Text: s} }
+
+// Word is a word.
+func Word(s string) api.Token { return api.Token{Kind: api.Word, Text: s} }
+
+// Number need not be one that may be.
+func Number(i int) api.Token { return api.Token{Kind: api.Number, Int: i} }
+
+// Quote of a text.
+func Quote(s string) api.Token { return api.Token{Kind: api.Quote, Text: s} }
+
+// Hex is a real by its bits.
+func Hex(b uint64) api.Token { return api.Token{Kind: api.Hex, Bits: b} }
+
+// Sign is a sign.
+func Sign(s string) api.Token { return api.Token{Kind: api.Sign, Text: s} }
 
 // Long is a string of n bytes.
 func Long(n int) string { return strings.Repeat("x", n) }
