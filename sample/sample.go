@@ -1,4 +1,4 @@
-// Package sample: values, tokens and bytes for the tests of all layers, in short. The program itself does not use it.
+// Package sample: values, tokens, expressions and bytes for the tests of all layers, in short. The program itself does not use it.
 package sample
 
 import (
@@ -45,6 +45,15 @@ func Hex(b uint64) api.Token { return api.Token{Kind: api.Hex, Bits: b} }
 
 // Sign is a sign.
 func Sign(s string) api.Token { return api.Token{Kind: api.Sign, Text: s} }
+
+// Lit is an expression, as are Col and Op.
+func Lit(v api.Value) api.Expr { return api.Expr{Op: api.Lit, Value: v} }
+
+// Col of a name, which need not be one.
+func Col(name string) api.Expr { return api.Expr{Op: api.Col, Name: name} }
+
+// Op on parts, of which there need not be as many as it has.
+func Op(op int, parts ...api.Expr) api.Expr { return api.Expr{Op: op, Args: parts} }
 
 // Long is a string of n bytes.
 func Long(n int) string { return strings.Repeat("x", n) }
