@@ -10,17 +10,6 @@ import (
 	"chirograph/sample"
 )
 
-// one: all operations on one part.
-func one() []int { return []int{api.Neg, api.Not, api.IsNull, api.Length} }
-
-// two: all operations on two parts.
-func two() []int {
-	return []int{
-		api.Add, api.Sub, api.Mul, api.Div, api.Eq, api.Ne, api.Lt, api.Le, api.Gt, api.Ge,
-		api.And, api.Or, api.Join, api.Coalesce,
-	}
-}
-
 // leaves: literals and columns that may be.
 func leaves() []api.Expr {
 	var l []api.Expr
@@ -37,11 +26,9 @@ func leaves() []api.Expr {
 	return l
 }
 
-func isTwo(op int) bool { return slices.Contains(two(), op) }
-
 // on: an operation whose parts are all the same.
 func on(op int, part api.Expr) api.Expr {
-	if isTwo(op) {
+	if sample.PartsOf(op) == 2 {
 		return sample.Op(op, part, part)
 	}
 	return sample.Op(op, part)
@@ -50,7 +37,7 @@ func on(op int, part api.Expr) api.Expr {
 // shallow: expressions that may be, of each Op with each leaf.
 func shallow() []api.Expr {
 	l := leaves()
-	for _, op := range append(one(), two()...) {
+	for _, op := range append(sample.OnOne(), sample.OnTwo()...) {
 		for _, leaf := range leaves() {
 			l = append(l, on(op, leaf))
 		}
@@ -76,11 +63,6 @@ type wrong struct {
 // wrongOps there are not, some of them one by their lowest byte.
 func wrongOps() []int {
 	return []int{0, -1, -3, 21, 22, 255, 257, 258, 259, 271, 1<<32 + 1, 1<<32 + 3, math.MinInt, math.MinInt + 1, math.MaxInt}
-}
-
-// wrongNames of columns.
-func wrongNames() []string {
-	return []string{"", "A", "aB", "NULL", "1", "1a", "_a", "a-b", "a b", " a", "a ", "'a'", "\u00e9", "a\xff", "a\x00", "abcdefghi", sample.Long(api.MaxName + 1), sample.Long(1000)}
 }
 
 // wrongLiterals: values that may not be, or have an Int below 0.
@@ -110,29 +92,18 @@ func wrongs() []wrong {
 			if op == api.Col {
 				e.Name = "a"
 			}
-			if n != partsOf(op) {
+			if n != sample.PartsOf(op) {
 				add(api.ErrForm, e)
 			}
 		}
 	}
-	for _, name := range wrongNames() {
+	for _, name := range sample.WrongNames() {
 		add(api.ErrForm, sample.Col(name))
 	}
 	for _, v := range wrongLiterals() {
 		add(api.ErrForm, sample.Lit(v))
 	}
 	return append(l, withOtherFields()...)
-}
-
-// partsOf an operation, as P8.1 says.
-func partsOf(op int) int {
-	switch {
-	case isTwo(op):
-		return 2
-	case slices.Contains(one(), op):
-		return 1
-	}
-	return 0
 }
 
 // withOtherFields: expressions that may be, but for a field that is not of their Op.
@@ -173,10 +144,10 @@ func TestRefuses(t *testing.T) {
 	a := sample.Col("a")
 	for _, w := range wrongs() {
 		mustRefuse(t, w.e, w.want)
-		for _, op := range one() {
+		for _, op := range sample.OnOne() {
 			mustRefuse(t, sample.Op(op, w.e), w.want)
 		}
-		for _, op := range two() {
+		for _, op := range sample.OnTwo() {
 			mustRefuse(t, sample.Op(op, w.e, a), w.want)
 			mustRefuse(t, sample.Op(op, a, w.e), w.want)
 		}
@@ -257,7 +228,7 @@ func mustBeSized(t *testing.T, e api.Expr) {
 func tower(op, high, side int) api.Expr {
 	e := sample.Col("a")
 	for range high - 1 {
-		parts := slices.Repeat([]api.Expr{sample.Col("b")}, partsOf(op))
+		parts := slices.Repeat([]api.Expr{sample.Col("b")}, sample.PartsOf(op))
 		parts[side] = e
 		e = sample.Op(op, parts...)
 	}
@@ -266,8 +237,8 @@ func tower(op, high, side int) api.Expr {
 
 // TestDepth: P8.2, up to MaxDepth and beyond, on each side.
 func TestDepth(t *testing.T) {
-	for _, op := range append(one(), two()...) {
-		for side := range partsOf(op) {
+	for _, op := range append(sample.OnOne(), sample.OnTwo()...) {
+		for side := range sample.PartsOf(op) {
 			for _, high := range []int{1, 2, api.MaxDepth - 1, api.MaxDepth, api.MaxDepth + 1, api.MaxDepth + 2, 100} {
 				mustBeSized(t, tower(op, high, side))
 			}

@@ -202,16 +202,16 @@ func mustNeedBrackets(t *testing.T, r *readings, e api.Expr) {
 func TestEachInEach(t *testing.T) {
 	r := readings{found: map[key][]api.Expr{}}
 	a := sample.Col("a")
-	ops := append(one(), two()...)
+	ops := append(sample.OnOne(), sample.OnTwo()...)
 	for _, inner := range ops {
 		mustNeedBrackets(t, &r, on(inner, a))
 		for _, middle := range ops {
-			for side := range partsOf(middle) {
+			for side := range sample.PartsOf(middle) {
 				e := on(middle, a)
 				e.Args[side] = on(inner, a)
 				mustNeedBrackets(t, &r, e)
 				for _, outer := range ops {
-					for outerSide := range partsOf(outer) {
+					for outerSide := range sample.PartsOf(outer) {
 						whole := on(outer, a)
 						whole.Args[outerSide] = e
 						mustNeedBrackets(t, &r, whole)
@@ -228,10 +228,10 @@ func grown(chance *rand.Rand, most int) api.Expr {
 	if most == 1 || chance.Intn(6) == 0 {
 		return l[chance.Intn(len(l))]
 	}
-	if ops := one(); chance.Intn(3) == 0 {
+	if ops := sample.OnOne(); chance.Intn(3) == 0 {
 		return sample.Op(ops[chance.Intn(len(ops))], grown(chance, most-1))
 	}
-	ops := two()
+	ops := sample.OnTwo()
 	return sample.Op(ops[chance.Intn(len(ops))], grown(chance, most-1), grown(chance, most-1))
 }
 

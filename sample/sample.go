@@ -1,4 +1,4 @@
-// Package sample: values, tokens, expressions and bytes for the tests of all layers, in short. The program itself does not use it.
+// Package sample: values, tokens, expressions, columns and bytes for the tests of all layers, in short. The program itself does not use it.
 package sample
 
 import (
@@ -54,6 +54,38 @@ func Col(name string) api.Expr { return api.Expr{Op: api.Col, Name: name} }
 
 // Op on parts, of which there need not be as many as it has.
 func Op(op int, parts ...api.Expr) api.Expr { return api.Expr{Op: op, Args: parts} }
+
+// OnOne: all operations on one part.
+func OnOne() []int { return []int{api.Neg, api.Not, api.IsNull, api.Length} }
+
+// OnTwo: all operations on two parts.
+func OnTwo() []int {
+	return []int{
+		api.Add, api.Sub, api.Mul, api.Div, api.Eq, api.Ne, api.Lt, api.Le, api.Gt, api.Ge,
+		api.And, api.Or, api.Join, api.Coalesce,
+	}
+}
+
+// PartsOf an operation, as P8.1 says.
+func PartsOf(op int) int {
+	switch {
+	case slices.Contains(OnTwo(), op):
+		return 2
+	case slices.Contains(OnOne(), op):
+		return 1
+	}
+	return 0
+}
+
+// Column that may be null.
+func Column(name string, kind int) api.Column {
+	return api.Column{Name: name, Kind: kind, Null: true}
+}
+
+// Filled is a column that may not be null.
+func Filled(name string, kind int) api.Column {
+	return api.Column{Name: name, Kind: kind}
+}
 
 // Long is a string of n bytes.
 func Long(n int) string { return strings.Repeat("x", n) }

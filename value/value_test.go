@@ -43,47 +43,11 @@ func TestCheckTakes(t *testing.T) {
 	}
 }
 
-// refused: a value that may not be, and why.
-type refused struct {
-	v    api.Value
-	want api.Errno
-}
-
-func refusedValues() []refused {
-	tooLong := sample.Long(api.MaxText + 1)
-	var l []refused
-	for _, k := range []int{-1, 5, math.MinInt, math.MaxInt} {
-		l = append(l, refused{api.Value{Kind: k}, api.ErrKind}, refused{api.Value{Kind: k, Text: tooLong}, api.ErrKind}, refused{api.Value{Kind: k, Int: 2, Bits: 1, Text: "\xff"}, api.ErrKind})
-	}
-	for k := api.Null; k <= api.Text; k++ {
-		l = append(l, refused{api.Value{Kind: k, Text: tooLong}, api.ErrSize}, refused{api.Value{Kind: k, Int: 2, Bits: 1 << 63, Text: tooLong}, api.ErrSize})
-		if k != api.Bool && k != api.Int {
-			l = append(l, refused{api.Value{Kind: k, Int: 1}, api.ErrForm}, refused{api.Value{Kind: k, Int: math.MinInt}, api.ErrForm})
-		}
-		if k != api.Real {
-			l = append(l, refused{api.Value{Kind: k, Bits: 1}, api.ErrForm}, refused{api.Value{Kind: k, Bits: 1 << 63}, api.ErrForm})
-		}
-		if k != api.Text {
-			l = append(l, refused{api.Value{Kind: k, Text: "a"}, api.ErrForm}, refused{api.Value{Kind: k, Text: sample.Long(api.MaxText)}, api.ErrForm})
-		}
-	}
-	for _, i := range []int{2, -1, math.MinInt, math.MaxInt} {
-		l = append(l, refused{sample.Bool(i), api.ErrForm})
-	}
-	for _, b := range []uint64{1 << 63, 0x7ff8000000000000, 0x7ff0000000000001, 0xfff8000000000000, 0xfff0000000000001, math.MaxUint64} {
-		l = append(l, refused{sample.Bits(b), api.ErrForm})
-	}
-	for _, s := range []string{"\xc3", "a\xff", "\x80", "\xc0\x80", "\xed\xa0\x80", "\xf4\x90\x80\x80", sample.Long(api.MaxText-1) + "\xc3"} {
-		l = append(l, refused{sample.Text(s), api.ErrForm})
-	}
-	return append(l, refused{sample.Text(sample.Long(api.MaxText) + "\xc3"), api.ErrSize}, refused{sample.Text(strings.Repeat("é", api.MaxText/2) + "x"), api.ErrSize})
-}
-
 // TestCheckRefuses: P1.1, each error and which one stands first.
 func TestCheckRefuses(t *testing.T) {
-	for _, r := range refusedValues() {
-		if e := Check(r.v); e != r.want {
-			t.Errorf("Check(%+v) = %d, want %d", r.v, e, r.want)
+	for _, r := range sample.RefusedValues() {
+		if e := Check(r.Value); e != r.Why {
+			t.Errorf("Check(%+v) = %d, want %d", r.Value, e, r.Why)
 		}
 	}
 }
@@ -129,18 +93,18 @@ func TestEqualAndLess(t *testing.T) {
 func TestTwoRefused(t *testing.T) {
 	calls := map[string]func(a, b api.Value) (int, api.Errno){"Compare": Compare, "Equal": Equal, "Less": Less}
 	for name, call := range calls {
-		for _, r := range refusedValues() {
+		for _, r := range sample.RefusedValues() {
 			for _, v := range []api.Value{sample.Null(), sample.Bool(1), sample.Int(3), sample.Real(1.5), sample.Text("a")} {
-				if n, e := call(r.v, v); n != 0 || e != r.want {
-					t.Errorf("%s(%+v, %+v) = %d %d, want 0 %d", name, r.v, v, n, e, r.want)
+				if n, e := call(r.Value, v); n != 0 || e != r.Why {
+					t.Errorf("%s(%+v, %+v) = %d %d, want 0 %d", name, r.Value, v, n, e, r.Why)
 				}
-				if n, e := call(v, r.v); n != 0 || e != r.want {
-					t.Errorf("%s(%+v, %+v) = %d %d, want 0 %d", name, v, r.v, n, e, r.want)
+				if n, e := call(v, r.Value); n != 0 || e != r.Why {
+					t.Errorf("%s(%+v, %+v) = %d %d, want 0 %d", name, v, r.Value, n, e, r.Why)
 				}
 			}
-			for _, s := range refusedValues() {
-				if n, e := call(r.v, s.v); n != 0 || e != r.want {
-					t.Errorf("%s(%+v, %+v) = %d %d, want 0 %d", name, r.v, s.v, n, e, r.want)
+			for _, s := range sample.RefusedValues() {
+				if n, e := call(r.Value, s.Value); n != 0 || e != r.Why {
+					t.Errorf("%s(%+v, %+v) = %d %d, want 0 %d", name, r.Value, s.Value, n, e, r.Why)
 				}
 			}
 		}

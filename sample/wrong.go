@@ -1,0 +1,55 @@
+package sample
+
+import (
+	"math"
+	"strings"
+
+	"chirograph/api"
+)
+
+// Refused: a value that may not be, and why.
+type Refused struct {
+	Value api.Value
+	Why   api.Errno
+}
+
+// RefusedValues: each error of P1.1, and which one stands first.
+func RefusedValues() []Refused {
+	tooLong := Long(api.MaxText + 1)
+	var l []Refused
+	for _, k := range WrongKinds() {
+		l = append(l, Refused{api.Value{Kind: k}, api.ErrKind}, Refused{api.Value{Kind: k, Text: tooLong}, api.ErrKind}, Refused{api.Value{Kind: k, Int: 2, Bits: 1, Text: "\xff"}, api.ErrKind})
+	}
+	for k := api.Null; k <= api.Text; k++ {
+		l = append(l, Refused{api.Value{Kind: k, Text: tooLong}, api.ErrSize}, Refused{api.Value{Kind: k, Int: 2, Bits: 1 << 63, Text: tooLong}, api.ErrSize})
+		if k != api.Bool && k != api.Int {
+			l = append(l, Refused{api.Value{Kind: k, Int: 1}, api.ErrForm}, Refused{api.Value{Kind: k, Int: math.MinInt}, api.ErrForm})
+		}
+		if k != api.Real {
+			l = append(l, Refused{api.Value{Kind: k, Bits: 1}, api.ErrForm}, Refused{api.Value{Kind: k, Bits: 1 << 63}, api.ErrForm})
+		}
+		if k != api.Text {
+			l = append(l, Refused{api.Value{Kind: k, Text: "a"}, api.ErrForm}, Refused{api.Value{Kind: k, Text: Long(api.MaxText)}, api.ErrForm})
+		}
+	}
+	for _, i := range []int{2, -1, math.MinInt, math.MaxInt} {
+		l = append(l, Refused{Bool(i), api.ErrForm})
+	}
+	for _, b := range []uint64{1 << 63, 0x7ff8000000000000, 0x7ff0000000000001, 0xfff8000000000000, 0xfff0000000000001, math.MaxUint64} {
+		l = append(l, Refused{Bits(b), api.ErrForm})
+	}
+	for _, s := range []string{"\xc3", "a\xff", "\x80", "\xc0\x80", "\xed\xa0\x80", "\xf4\x90\x80\x80", Long(api.MaxText-1) + "\xc3"} {
+		l = append(l, Refused{Text(s), api.ErrForm})
+	}
+	return append(l, Refused{Text(Long(api.MaxText) + "\xc3"), api.ErrSize}, Refused{Text(strings.Repeat("é", api.MaxText/2) + "x"), api.ErrSize})
+}
+
+// WrongNames are none of at most MaxName bytes.
+func WrongNames() []string {
+	return []string{"", "A", "aB", "NULL", "1", "1a", "_a", "a-b", "a b", " a", "a ", "'a'", "\u00e9", "a\xff", "a\x00", "abcdefghi", Long(api.MaxName + 1), Long(1000)}
+}
+
+// WrongKinds there are not, some of them one by their lowest byte.
+func WrongKinds() []int {
+	return []int{-1, -2, 5, 6, 256, 257, 260, 1<<32 + 1, 1<<32 + 2, math.MinInt, math.MinInt + 1, math.MaxInt}
+}
