@@ -1,7 +1,11 @@
-// Package known: what there is of the things that numbers name, for the layers that ask it alike.
+// Package known: what there is of the things that numbers or names name, for the layers that ask it alike.
 package known
 
-import "chirograph/api"
+import (
+	"slices"
+
+	"chirograph/api"
+)
 
 // Mode tells whether digests have such a mode.
 func Mode(mode int) bool {
@@ -11,4 +15,9 @@ func Mode(mode int) bool {
 // Place tells whether a list of n has such a place.
 func Place(i, n int) bool {
 	return i >= 0 && i < n
+}
+
+// Column is the place of the first column of this name; below 0: there is none.
+func Column(name string, cols []api.Column) int {
+	return slices.IndexFunc(cols, func(c api.Column) bool { return c.Name == name })
 }

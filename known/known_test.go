@@ -3,6 +3,7 @@ package known
 import (
 	"testing"
 
+	"chirograph/api"
 	"chirograph/sample"
 )
 
@@ -31,6 +32,21 @@ func TestPlaces(t *testing.T) {
 		for _, i := range sample.WrongPlaces(n) {
 			if Place(i, n) {
 				t.Errorf("%d have a place %d", n, i)
+			}
+		}
+	}
+}
+
+// TestColumns: each by its whole name alone, the first one, where two have the same.
+func TestColumns(t *testing.T) {
+	cols := []api.Column{sample.Filled("a", api.Int), sample.Column("ab", api.Text), sample.Column("A", api.Bool), sample.Filled("ab", api.Int), {}}
+	for n := range len(cols) + 1 {
+		for name, place := range map[string]int{"a": 0, "ab": 1, "A": 2, "": 4, "b": -1, "abc": -1, "AB": -1, "a ": -1} {
+			if place >= n {
+				place = -1
+			}
+			if got := Column(name, cols[:n]); got != place {
+				t.Errorf("the column %q of %+v = %d, want %d", name, cols[:n], got, place)
 			}
 		}
 	}
