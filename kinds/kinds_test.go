@@ -1,7 +1,6 @@
 package kinds
 
 import (
-	"math"
 	"slices"
 	"strings"
 	"testing"
@@ -9,11 +8,6 @@ import (
 	"chirograph/api"
 	"chirograph/sample"
 )
-
-// kindsOfColumns: all that a column may have.
-func kindsOfColumns() []int {
-	return []int{api.Bool, api.Int, api.Real, api.Text}
-}
 
 // good: n columns that may be, of all Kinds.
 func good(n int) []api.Column {
@@ -49,7 +43,7 @@ func TestColumnsTakes(t *testing.T) {
 	for n := range api.MaxCols + 1 {
 		mustSayColumns(t, api.OK, good(n))
 	}
-	for _, kind := range kindsOfColumns() {
+	for _, kind := range sample.KindsOfColumns() {
 		for _, name := range []string{"a", "z", "a0", "a9", "a_", "a__1", "not", "abcdefgh", sample.Long(api.MaxName)} {
 			mustSayColumns(t, api.OK, []api.Column{sample.Column(name, kind)})
 			mustSayColumns(t, api.OK, []api.Column{sample.Filled(name, kind)})
@@ -72,7 +66,7 @@ func wrongColumns() []wrongColumn {
 		l = append(l, wrongColumn{sample.Column("", kind), api.ErrForm}, wrongColumn{sample.Filled("C", kind), api.ErrForm})
 	}
 	for _, name := range sample.WrongNames() {
-		for _, kind := range kindsOfColumns() {
+		for _, kind := range sample.KindsOfColumns() {
 			l = append(l, wrongColumn{sample.Column(name, kind), api.ErrForm}, wrongColumn{sample.Filled(name, kind), api.ErrForm})
 		}
 	}
@@ -97,7 +91,7 @@ func TestColumnsTwice(t *testing.T) {
 	for n := 2; n <= api.MaxCols; n++ {
 		for j := range n {
 			for i := range j {
-				for _, kind := range kindsOfColumns() {
+				for _, kind := range sample.KindsOfColumns() {
 					cols := good(n)
 					cols[j] = sample.Column(cols[i].Name, kind)
 					mustSayColumns(t, api.ErrTwice, cols)
@@ -168,21 +162,6 @@ func mustSayRow(t *testing.T, want api.Errno, row []api.Value, cols []api.Column
 	}
 }
 
-// valuesOf a Kind that may be.
-func valuesOf(kind int) []api.Value {
-	switch kind {
-	case api.Null:
-		return []api.Value{sample.Null()}
-	case api.Bool:
-		return []api.Value{sample.Bool(0), sample.Bool(1)}
-	case api.Int:
-		return []api.Value{sample.Int(0), sample.Int(1), sample.Int(-1), sample.Int(math.MinInt), sample.Int(math.MaxInt)}
-	case api.Real:
-		return []api.Value{sample.Real(0), sample.Real(-1.5), sample.Real(math.Inf(1)), sample.Real(math.Inf(-1))}
-	}
-	return []api.Value{sample.Text(""), sample.Text("it's"), sample.Text("\u00e9"), sample.Text(sample.Long(api.MaxText))}
-}
-
 // fault that a value of a Kind has in a column.
 func fault(kind int, c api.Column) api.Errno {
 	switch {
@@ -196,10 +175,10 @@ func fault(kind int, c api.Column) api.Errno {
 
 // TestRowOfOne: P9.3, each value in each column.
 func TestRowOfOne(t *testing.T) {
-	for _, columnKind := range kindsOfColumns() {
+	for _, columnKind := range sample.KindsOfColumns() {
 		for _, c := range []api.Column{sample.Column("a", columnKind), sample.Filled("a", columnKind)} {
 			for kind := api.Null; kind <= api.Text; kind++ {
-				for _, v := range valuesOf(kind) {
+				for _, v := range sample.ValuesOf(kind) {
 					mustSayRow(t, fault(kind, c), []api.Value{v}, []api.Column{c})
 				}
 			}
@@ -214,7 +193,7 @@ func TestRowOfOne(t *testing.T) {
 func fitting(cols []api.Column) []api.Value {
 	var row []api.Value
 	for _, c := range cols {
-		l := valuesOf(c.Kind)
+		l := sample.ValuesOf(c.Kind)
 		row = append(row, l[len(l)-1])
 	}
 	return row
@@ -230,7 +209,7 @@ func TestRowEachPlace(t *testing.T) {
 		for i, c := range cols {
 			row := fitting(cols)
 			for kind := api.Null; kind <= api.Text; kind++ {
-				row[i] = valuesOf(kind)[0]
+				row[i] = sample.ValuesOf(kind)[0]
 				mustSayRow(t, fault(kind, c), row, cols)
 			}
 			for _, r := range sample.RefusedValues() {

@@ -6,34 +6,9 @@ import (
 
 	"chirograph/api"
 	"chirograph/expr"
-	"chirograph/lex"
 	"chirograph/sample"
+	"chirograph/written"
 )
-
-// nullable columns: one of each Kind, and one more.
-func nullable() []api.Column {
-	return []api.Column{sample.Column("b", api.Bool), sample.Column("i", api.Int), sample.Column("r", api.Real), sample.Column("t", api.Text), sample.Filled("x", api.Int)}
-}
-
-// filled: the same ones, but none may be null.
-func filled() []api.Column {
-	l := nullable()
-	for i := range l {
-		l[i].Null = false
-	}
-	return l
-}
-
-// exprOf a text, which must be one.
-func exprOf(t *testing.T, text string) api.Expr {
-	t.Helper()
-	l, _, f := lex.Cut(text)
-	e, _, why := expr.Parse(l)
-	if f != api.OK || why != api.OK {
-		t.Fatalf("%q is no expression: %d %d", text, f, why)
-	}
-	return e
-}
 
 // mustBe: an expression's Kind, and whether it may be null.
 func mustBe(t *testing.T, kind int, null bool, e api.Expr, cols []api.Column) {
@@ -54,10 +29,10 @@ func mustRefuse(t *testing.T, want api.Errno, e api.Expr, cols []api.Column) {
 // TestLeaves: P9.2, literals and columns.
 func TestLeaves(t *testing.T) {
 	for kind := api.Null; kind <= api.Text; kind++ {
-		for _, v := range valuesOf(kind) {
+		for _, v := range sample.ValuesOf(kind) {
 			if v.Int >= 0 {
 				mustBe(t, kind, kind == api.Null, sample.Lit(v), nil)
-				mustBe(t, kind, kind == api.Null, sample.Lit(v), nullable())
+				mustBe(t, kind, kind == api.Null, sample.Lit(v), sample.Columns())
 			}
 		}
 	}
@@ -97,8 +72,8 @@ func TestTexts(t *testing.T) {
 		{"( i + t ) IS NULL", clash, false}, {"COALESCE ( NULL , - t )", clash, false},
 		{"y", none, false}, {"y IS NULL", none, false}, {"COALESCE ( NULL , y )", none, false}, {"LENGTH ( y )", none, false}, {"i + t = y", clash, false}, {"y = i + t", none, false}, {"NOT ( i + y )", none, false},
 	} {
-		e := exprOf(t, c.text)
-		for _, cols := range [][]api.Column{nullable(), filled()} {
+		e := written.Expr(c.text)
+		for _, cols := range [][]api.Column{sample.Columns(), sample.FilledColumns()} {
 			switch c.kind {
 			case none:
 				mustRefuse(t, api.ErrNone, e, cols)
@@ -129,11 +104,11 @@ func TestNulls(t *testing.T) {
 			mustBe(t, c.kind, c.null, sample.Op(op, slices.Repeat([]api.Expr{null}, sample.PartsOf(op))...), nil)
 		}
 	}
-	for _, c := range nullable() {
+	for _, c := range sample.Columns() {
 		for _, l := range [][]api.Expr{{null, sample.Col(c.Name)}, {sample.Col(c.Name), null}} {
-			mustBe(t, c.Kind, c.Null, sample.Op(api.Coalesce, l...), nullable())
+			mustBe(t, c.Kind, c.Null, sample.Op(api.Coalesce, l...), sample.Columns())
 			for op := api.Eq; op <= api.Ge; op++ {
-				mustBe(t, api.Bool, true, sample.Op(op, l...), nullable())
+				mustBe(t, api.Bool, true, sample.Op(op, l...), sample.Columns())
 			}
 		}
 	}
@@ -142,29 +117,10 @@ func TestNulls(t *testing.T) {
 	mustBe(t, api.Text, false, sample.Op(api.Coalesce, inner, sample.Lit(sample.Text(""))), nil)
 }
 
-// wrongExprs: expressions that may not be, and why.
-func wrongExprs() map[api.Errno][]api.Expr {
-	one, missing := sample.Lit(sample.Int(1)), sample.Col("y")
-	deep := sample.Op(api.Not, one)
-	for range api.MaxDepth - 1 {
-		deep = sample.Op(api.Not, deep)
-	}
-	itself := make([]api.Expr, 1)
-	itself[0] = sample.Op(api.Neg, itself...)
-	return map[api.Errno][]api.Expr{
-		api.ErrSize: {deep, itself[0], sample.Op(api.Add, missing, deep), sample.Op(api.Add, make([]api.Expr, api.MaxNodes)...), sample.Op(0, deep)},
-		api.ErrKind: {{}, sample.Op(21, one), sample.Op(-1), sample.Op(api.Add, sample.Op(api.Join, one, one), api.Expr{}), sample.Op(api.Eq, missing, sample.Op(257))},
-		api.ErrForm: {
-			sample.Col("A"), sample.Col(""), sample.Lit(sample.Int(-1)), sample.Lit(api.Value{Kind: 9}), sample.Op(api.Neg), sample.Op(api.Neg, one, one), sample.Op(api.Add, one), sample.Op(api.Lit, one),
-			sample.Op(api.Add, missing, sample.Op(api.Coalesce, one)), sample.Op(api.Join, one, sample.Col("1")), {Op: api.Col, Name: "a", Value: sample.Int(1)},
-		},
-	}
-}
-
 // TestExpressionFirst: P9.2, what expr's Check refuses is told ahead of all else.
 func TestExpressionFirst(t *testing.T) {
-	lists := [][]api.Column{nil, nullable(), {{}}, make([]api.Column, api.MaxCols+1), {sample.Filled("a", api.Int), sample.Filled("a", api.Int)}, {sample.Filled("a", 9)}}
-	for want, l := range wrongExprs() {
+	lists := [][]api.Column{nil, sample.Columns(), {{}}, make([]api.Column, api.MaxCols+1), {sample.Filled("a", api.Int), sample.Filled("a", api.Int)}, {sample.Filled("a", 9)}}
+	for want, l := range sample.WrongExprs() {
 		for _, e := range l {
 			if f := expr.Check(e); f != want {
 				t.Fatalf("expr.Check(%+v) = %d, want %d", e, f, want)
@@ -181,15 +137,6 @@ func sums() api.Expr {
 	x := sample.Col("x")
 	twig := func() api.Expr { return sample.Op(api.Mul, sample.Op(api.Neg, x), sample.Op(api.Add, x, x)) }
 	return sample.Op(api.Coalesce, sample.Op(api.Sub, twig(), twig()), sample.Op(api.Neg, twig()))
-}
-
-// behind: an expression's parts, then itself, from left to right, all the way down.
-func behind(e *api.Expr) []*api.Expr {
-	var l []*api.Expr
-	for i := range e.Args {
-		l = append(l, behind(&e.Args[i])...)
-	}
-	return append(l, e)
 }
 
 // spoil an expression of numbers, whose parts stay as they are: a column is none, an operation asks for texts.
@@ -209,14 +156,14 @@ func spoil(e *api.Expr) api.Errno {
 // TestFirstFault: P9.2, parts ahead of what they are parts of, from left to right: whichever fault stands first is told.
 func TestFirstFault(t *testing.T) {
 	e := sums()
-	mustBe(t, api.Int, false, e, filled())
-	n := len(behind(&e))
+	mustBe(t, api.Int, false, e, sample.FilledColumns())
+	n := len(sample.Behind(&e))
 	for i := range n {
 		for j := range i + 1 {
 			e := sums()
-			l := behind(&e)
+			l := sample.Behind(&e)
 			spoil(l[i])
-			mustRefuse(t, spoil(l[j]), e, filled())
+			mustRefuse(t, spoil(l[j]), e, sample.FilledColumns())
 		}
 	}
 }

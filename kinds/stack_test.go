@@ -9,43 +9,6 @@ import (
 	"chirograph/sample"
 )
 
-// line of a table of P9.2: the Kinds that the parts of an operation have where none of them is Null, and the Kind that it gives then.
-type line struct {
-	parts []int
-	gives int
-}
-
-// lines of an operation.
-func lines(op int) []line {
-	const b, i, t = api.Bool, api.Int, api.Text
-	switch op {
-	case api.Neg:
-		return []line{{[]int{i}, i}}
-	case api.Add, api.Sub, api.Mul, api.Div:
-		return []line{{[]int{i, i}, i}}
-	case api.Not:
-		return []line{{[]int{b}, b}}
-	case api.And, api.Or:
-		return []line{{[]int{b, b}, b}}
-	case api.Length:
-		return []line{{[]int{t}, i}}
-	case api.Join:
-		return []line{{[]int{t, t}, t}}
-	}
-	var l []line
-	for _, k := range kindsOfColumns() {
-		switch op {
-		case api.IsNull:
-			l = append(l, line{[]int{k}, b})
-		case api.Coalesce:
-			l = append(l, line{[]int{k, k}, k})
-		default:
-			l = append(l, line{[]int{k, k}, b})
-		}
-	}
-	return l
-}
-
 // said of an expression: its Kind, and whether it may be null; or what is wrong.
 type said struct {
 	kind int
@@ -54,9 +17,9 @@ type said struct {
 }
 
 // agrees tells whether parts have the Kinds of a line, where Null is any of them.
-func (l line) agrees(parts []said) bool {
+func agrees(l sample.Line, parts []said) bool {
 	for i, p := range parts {
-		if p.kind != api.Null && p.kind != l.parts[i] {
+		if p.kind != api.Null && p.kind != l.Parts[i] {
 			return false
 		}
 	}
@@ -66,9 +29,9 @@ func (l line) agrees(parts []said) bool {
 // byLines says of an operation what the lines say that agree: where these do not give one Kind it is Null.
 func byLines(op int, parts []said) said {
 	given := map[int]int{}
-	for _, l := range lines(op) {
-		if l.agrees(parts) {
-			given[l.gives]++
+	for _, l := range sample.Lines(op) {
+		if agrees(l, parts) {
+			given[l.Gives]++
 		}
 	}
 	s := said{null: nullBy(op, parts)}
@@ -100,7 +63,7 @@ func nullBy(op int, parts []said) bool {
 // byStack says what P9.2 does in another way: all parts one behind the other, each operation taking what it is of from the top of a stack.
 func byStack(e api.Expr, cols map[string]api.Column) said {
 	var stack []said
-	for _, part := range behind(&e) {
+	for _, part := range sample.Behind(&e) {
 		n := len(stack) - len(part.Args)
 		s := said{part.Value.Kind, part.Value.Kind == api.Null, api.OK}
 		switch c, there := cols[part.Name]; {
@@ -139,29 +102,17 @@ func mixed() []api.Column {
 	return []api.Column{sample.Filled("b", api.Bool), sample.Column("i", api.Int), sample.Column("r", api.Real), sample.Filled("t", api.Text), sample.Column("x", api.Bool)}
 }
 
-// leaves: a literal of each Kind, each column, and one that there is not.
-func leaves() []api.Expr {
-	var l []api.Expr
-	for kind := api.Null; kind <= api.Text; kind++ {
-		l = append(l, sample.Lit(valuesOf(kind)[0]))
-	}
-	for _, c := range nullable() {
-		l = append(l, sample.Col(c.Name))
-	}
-	return append(l, sample.Col("y"))
-}
-
 // TestEachOperation: P9.2, each operation on each two leaves, and each one on what these give, on each side.
 func TestEachOperation(t *testing.T) {
-	for _, cols := range [][]api.Column{nullable(), mixed()} {
-		shallow := leaves()
+	for _, cols := range [][]api.Column{sample.Columns(), mixed()} {
+		shallow := sample.Leaves()
 		for _, op := range append(sample.OnOne(), sample.OnTwo()...) {
-			for _, a := range leaves() {
+			for _, a := range sample.Leaves() {
 				if sample.PartsOf(op) == 1 {
 					shallow = append(shallow, sample.Op(op, a))
 					continue
 				}
-				for _, b := range leaves() {
+				for _, b := range sample.Leaves() {
 					shallow = append(shallow, sample.Op(op, a, b))
 				}
 			}
@@ -172,7 +123,7 @@ func TestEachOperation(t *testing.T) {
 				mustAgree(t, sample.Op(op, e), cols)
 			}
 			for _, op := range sample.OnTwo() {
-				for _, leaf := range leaves() {
+				for _, leaf := range sample.Leaves() {
 					mustAgree(t, sample.Op(op, e, leaf), cols)
 					mustAgree(t, sample.Op(op, leaf, e), cols)
 				}
@@ -181,44 +132,13 @@ func TestEachOperation(t *testing.T) {
 	}
 }
 
-// grown by chance, of such a depth at most; mostly with the Kind that is asked for (Null: any).
-func grown(chance *rand.Rand, most, asked int) api.Expr {
-	l := leaves()
-	switch chance.Intn(50) {
-	case 0:
-		asked = chance.Intn(api.Text + 1)
-	case 1:
-		return l[len(l)-1] // the column that there is not
-	}
-	if most == 1 || chance.Intn(6) == 0 {
-		if chance.Intn(2) == 0 {
-			return l[asked] // the literal of that Kind
-		}
-		return l[api.Text+max(asked, api.Bool)] // the column
-	}
-	ops := append(sample.OnOne(), sample.OnTwo()...)
-	for {
-		op := ops[chance.Intn(len(ops))]
-		all := lines(op)
-		line := all[chance.Intn(len(all))]
-		if asked != api.Null && line.gives != asked {
-			continue
-		}
-		var parts []api.Expr
-		for _, kind := range line.parts {
-			parts = append(parts, grown(chance, most-1, kind))
-		}
-		return sample.Op(op, parts...)
-	}
-}
-
 // TestManyExpressions: P9.2, of many large expressions, most of them without a fault.
 func TestManyExpressions(t *testing.T) {
 	chance := rand.New(rand.NewSource(9))
-	lists := [][]api.Column{nullable(), filled(), mixed()}
+	lists := [][]api.Column{sample.Columns(), sample.FilledColumns(), mixed()}
 	counts := map[api.Errno]int{}
 	for range 20000 {
-		e := grown(chance, 2+chance.Intn(api.MaxDepth-1), chance.Intn(api.Text+1))
+		e := sample.Grown(chance.Intn, 2+chance.Intn(api.MaxDepth-1), chance.Intn(api.Text+1))
 		if expr.Check(e) != api.OK {
 			continue
 		}

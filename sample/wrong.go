@@ -53,3 +53,22 @@ func WrongNames() []string {
 func WrongKinds() []int {
 	return []int{-1, -2, 5, 6, 256, 257, 260, 1<<32 + 1, 1<<32 + 2, math.MinInt, math.MinInt + 1, math.MaxInt}
 }
+
+// WrongExprs: expressions that may not be, and why.
+func WrongExprs() map[api.Errno][]api.Expr {
+	one, missing := Lit(Int(1)), Col("y")
+	deep := Op(api.Not, one)
+	for range api.MaxDepth - 1 {
+		deep = Op(api.Not, deep)
+	}
+	itself := make([]api.Expr, 1)
+	itself[0] = Op(api.Neg, itself...)
+	return map[api.Errno][]api.Expr{
+		api.ErrSize: {deep, itself[0], Op(api.Add, missing, deep), Op(api.Add, make([]api.Expr, api.MaxNodes)...), Op(0, deep)},
+		api.ErrKind: {{}, Op(21, one), Op(-1), Op(api.Add, Op(api.Join, one, one), api.Expr{}), Op(api.Eq, missing, Op(257))},
+		api.ErrForm: {
+			Col("A"), Col(""), Lit(Int(-1)), Lit(api.Value{Kind: 9}), Op(api.Neg), Op(api.Neg, one, one), Op(api.Add, one), Op(api.Lit, one),
+			Op(api.Add, missing, Op(api.Coalesce, one)), Op(api.Join, one, Col("1")), {Op: api.Col, Name: "a", Value: Int(1)},
+		},
+	}
+}
