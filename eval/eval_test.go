@@ -428,7 +428,7 @@ func roomy(l []api.Expr) []api.Expr {
 	return room[:len(l)]
 }
 
-// whole list, spare room too, and those of its expressions, as they are now.
+// wholeOf a list: a copy with its spare room, and with the whole lists of its expressions.
 func wholeOf(l []api.Expr) []api.Expr {
 	all := slices.Clone(l[:cap(l)])
 	for i, e := range all {
