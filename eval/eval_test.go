@@ -369,23 +369,6 @@ func TestNotLookedAt(t *testing.T) {
 	}
 }
 
-// rows of the columns of package sample, by chance.
-func rows(chance *rand.Rand, n int) [][]api.Value {
-	var l [][]api.Value
-	for range n {
-		var row []api.Value
-		for _, c := range sample.Columns() {
-			values := append(sample.ValuesOf(c.Kind), sample.ValuesOf(c.Kind)[0])
-			if c.Null {
-				values[len(values)-1] = sample.Null()
-			}
-			row = append(row, values[chance.Intn(len(values))])
-		}
-		l = append(l, row)
-	}
-	return l
-}
-
 // TestManyExpressions: P10.1 to P10.3, of many large expressions; and what comes of it: what has a Kind never fails for its Kinds, and says a value of it.
 func TestManyExpressions(t *testing.T) {
 	chance := rand.New(rand.NewSource(10))
@@ -396,7 +379,7 @@ func TestManyExpressions(t *testing.T) {
 			continue
 		}
 		kind, null, fault := kinds.Of(e, sample.Columns())
-		for _, row := range rows(chance, 4) {
+		for _, row := range sample.Rows(chance.Intn, 4) {
 			v, why := mustAgree(t, e, sample.Columns(), row)
 			counts[why]++
 			if fault != api.OK {
@@ -417,38 +400,18 @@ func TestManyExpressions(t *testing.T) {
 	}
 }
 
-// roomy: the expressions of a list, with spare room behind them that something stands in, all the way down.
-func roomy(l []api.Expr) []api.Expr {
-	room := []api.Expr{}
-	for _, e := range l {
-		e.Args = roomy(e.Args)
-		room = append(room, e)
-	}
-	room = append(room, sample.Op(api.Neg, sample.Col("spare")), sample.Col("spare"))
-	return room[:len(l)]
-}
-
-// wholeOf a list: a copy with its spare room, and with the whole lists of its expressions.
-func wholeOf(l []api.Expr) []api.Expr {
-	all := slices.Clone(l[:cap(l)])
-	for i, e := range all {
-		all[i].Args = wholeOf(e.Args)
-	}
-	return all
-}
-
 // TestListsStayAsTheyAre: what is handed in is not changed, its spare room neither.
 func TestListsStayAsTheyAre(t *testing.T) {
 	cols, row := sample.Columns(), sampleRow()
 	colsBefore, rowBefore := slices.Clone(cols), slices.Clone(row)
 	for _, text := range []string{"2 * 3 + i", "COALESCE ( 1 + 1 , y ) = 2", "t || ( 'a' || 'b' )", "- - 5 < LENGTH ( 'ab' )", "NOT ( FALSE OR i IS NULL )", "y"} {
-		l := roomy([]api.Expr{written.Expr(text)})
-		before := wholeOf(l)
+		l := sample.Roomy([]api.Expr{written.Expr(text)})
+		before := sample.WholeOf(l)
 		for _, n := range []int{len(cols), 2, 0} {
 			Eval(l[0], cols[:n], row[:n])
 			Fold(l[0])
 		}
-		if !reflect.DeepEqual(wholeOf(l), before) {
+		if !reflect.DeepEqual(sample.WholeOf(l), before) {
 			t.Errorf("%s was changed", text)
 		}
 	}

@@ -60,7 +60,7 @@ func TestFoldRefuses(t *testing.T) {
 
 // rewritten says what P10.4 does in another way: as long as any operation can be, whichever, it is made the literal that the second way says it is.
 func rewritten(chance *rand.Rand, e api.Expr) api.Expr {
-	e = copyOf(e)
+	e = sample.CopyOf(e)
 	for {
 		l := sample.Behind(&e)
 		chance.Shuffle(len(l), func(i, j int) { l[i], l[j] = l[j], l[i] })
@@ -92,16 +92,6 @@ func spoken(e api.Expr) (api.Value, bool) {
 	return v, why == api.OK && v.Int >= 0
 }
 
-// copyOf an expression, which shares no list with it.
-func copyOf(e api.Expr) api.Expr {
-	var parts []api.Expr
-	for _, part := range e.Args {
-		parts = append(parts, copyOf(part))
-	}
-	e.Args = parts
-	return e
-}
-
 // mustFoldAs the other way does; and what is folded says the same in each row.
 func mustFoldAs(t *testing.T, chance *rand.Rand, e api.Expr) {
 	t.Helper()
@@ -109,7 +99,7 @@ func mustFoldAs(t *testing.T, chance *rand.Rand, e api.Expr) {
 	if want := rewritten(chance, e); !reflect.DeepEqual(folded, want) {
 		t.Errorf("Fold(%+v) = %+v, want %+v", e, folded, want)
 	}
-	for _, row := range rows(chance, 3) {
+	for _, row := range sample.Rows(chance.Intn, 3) {
 		v, why := Eval(e, sample.Columns(), row)
 		if w, f := Eval(folded, sample.Columns(), row); w != v || f != why {
 			t.Errorf("%+v says %+v %d in %+v, and folded %+v %d", e, v, why, row, w, f)
@@ -148,7 +138,7 @@ func TestFoldEachOperation(t *testing.T) {
 
 // withLiterals: an expression in which most columns are made literals, by chance.
 func withLiterals(chance *rand.Rand, e api.Expr) api.Expr {
-	e = copyOf(e)
+	e = sample.CopyOf(e)
 	for _, part := range sample.Behind(&e) {
 		if part.Op == api.Col && chance.Intn(4) > 0 {
 			values := sample.ValuesOf(chance.Intn(api.Text + 1))
@@ -192,7 +182,7 @@ func TestFoldIsNewMemory(t *testing.T) {
 	shared := sample.Op(api.Coalesce, sample.Op(api.Mul, twins...), sample.Op(api.Mul, twins...))
 	leaf := sample.Col("a")
 	leaf.Args = twins[:0]
-	for _, e := range []api.Expr{shared, leaf, written.Expr("- ( 2 - 3 )"), written.Expr("a AND ( b OR 1 = 1 )"), roomy([]api.Expr{written.Expr("a + 2 * 3")})[0], roomy([]api.Expr{sample.Lit(sample.Int(1))})[0]} {
+	for _, e := range []api.Expr{shared, leaf, written.Expr("- ( 2 - 3 )"), written.Expr("a AND ( b OR 1 = 1 )"), sample.Roomy([]api.Expr{written.Expr("a + 2 * 3")})[0], sample.Roomy([]api.Expr{sample.Lit(sample.Int(1))})[0]} {
 		handed, places := map[*api.Expr]int{}, map[*api.Expr]int{}
 		note(e, handed)
 		note(fold(t, e), places)

@@ -371,15 +371,6 @@ func lists(e api.Expr) [][]api.Expr {
 	return l
 }
 
-// copyOf an expression, which shares nothing with it.
-func copyOf(e api.Expr) api.Expr {
-	e.Args = slices.Clone(e.Args)
-	for i, part := range e.Args {
-		e.Args[i] = copyOf(part)
-	}
-	return e
-}
-
 // TestListsStayApart: what is handed in stays as it is, and answers share no memory, spare room neither, with each other or within one.
 func TestListsStayApart(t *testing.T) {
 	const text = "( a + 1 ) * - b <= COALESCE ( LENGTH ( 'x' ) , 7 ) AND NOT c IS NULL"
@@ -390,10 +381,10 @@ func TestListsStayApart(t *testing.T) {
 	parse := func() api.Expr { e, _, _ := Parse(room[:len(l)]); return e }
 	for _, read := range []func() api.Expr{ahead, parse} {
 		other := read()
-		want := copyOf(other)
+		want := sample.CopyOf(other)
 		for i := range lists(want) {
 			e := read()
-			kept := lists(copyOf(e))
+			kept := lists(sample.CopyOf(e))
 			all := lists(e)
 			for j := range all[i] {
 				all[i][j] = api.Expr{Op: 77}
@@ -419,22 +410,13 @@ func sameButParts(a, b api.Expr) bool {
 	return a.Op == b.Op && a.Name == b.Name && a.Value == b.Value && len(a.Args) == len(b.Args)
 }
 
-// roomy: an expression whose lists have spare room, in which something stands.
-func roomy(e api.Expr) api.Expr {
-	var parts []api.Expr
-	for _, part := range e.Args {
-		parts = append(parts, roomy(part))
-	}
-	e.Args = append(parts, sample.Col("spare"))[:len(parts)]
-	return e
-}
-
 // mustShowApart: an expression stays as it is, its spare room, too, and answers of Show share nothing.
 func mustShowApart(t *testing.T, e api.Expr) {
 	t.Helper()
-	room := roomy(e)
-	one, _ := Show(room)
-	two, _ := Show(room)
+	room := sample.Roomy([]api.Expr{e})
+	before := sample.WholeOf(room)
+	one, _ := Show(room[0])
+	two, _ := Show(room[0])
 	kept := slices.Clone(two)
 	for i := range one[:cap(one)] {
 		one[:cap(one)][i] = sample.Word("SPOILT")
@@ -442,12 +424,7 @@ func mustShowApart(t *testing.T, e api.Expr) {
 	if !slices.Equal(two, kept) {
 		t.Errorf("answers of Show share their tokens: %+v", two)
 	}
-	for i, part := range all(&room) {
-		if !sameButParts(*part, *all(&e)[i]) {
-			t.Errorf("Show changed a part: %+v", part)
-		}
-		if spare := part.Args[:len(part.Args)+1][len(part.Args)]; !sameButParts(spare, sample.Col("spare")) {
-			t.Errorf("Show changed spare room: %+v", spare)
-		}
+	if !reflect.DeepEqual(sample.WholeOf(room), before) {
+		t.Errorf("Show changed %+v", e)
 	}
 }

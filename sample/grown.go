@@ -41,6 +41,23 @@ func FilledColumns() []api.Column {
 	return l
 }
 
+// Rows of such columns. Which ones hangs on chance, which is to answer a number from 0 up to, but not with, its own.
+func Rows(chance func(n int) int, n int) [][]api.Value {
+	var l [][]api.Value
+	for range n {
+		var row []api.Value
+		for _, c := range Columns() {
+			values := append(ValuesOf(c.Kind), ValuesOf(c.Kind)[0])
+			if c.Null {
+				values[len(values)-1] = Null()
+			}
+			row = append(row, values[chance(len(values))])
+		}
+		l = append(l, row)
+	}
+	return l
+}
+
 // Leaves over such columns: a literal of each Kind, Null first, each column, and one that there is not.
 func Leaves() []api.Expr {
 	var l []api.Expr
