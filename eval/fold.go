@@ -5,6 +5,7 @@ import (
 
 	"chirograph/api"
 	"chirograph/expr"
+	"chirograph/fresh"
 )
 
 // Fold what is known ahead of any row (P10.4).
@@ -36,7 +37,7 @@ func folded(e api.Expr) api.Expr {
 }
 
 func literalOf(v api.Value) api.Expr {
-	return api.Expr{Op: api.Lit, Value: copied(v)}
+	return api.Expr{Op: api.Lit, Value: fresh.Value(v)}
 }
 
 // foreseen: what an operation says in every row, if all its parts are literals, and if a literal may say it, too.

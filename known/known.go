@@ -21,3 +21,8 @@ func Place(i, n int) bool {
 func Column(name string, cols []api.Column) int {
 	return slices.IndexFunc(cols, func(c api.Column) bool { return c.Name == name })
 }
+
+// Expr tells whether there is an expression, be it a wrong one: if all of it is zero there is none at all.
+func Expr(e api.Expr) bool {
+	return e.Op != 0 || e.Name != "" || e.Value != api.Value{} || len(e.Args) > 0
+}

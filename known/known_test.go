@@ -51,3 +51,21 @@ func TestColumns(t *testing.T) {
 		}
 	}
 }
+
+// TestExprs: none at all is zero all over, lists without elements or not.
+func TestExprs(t *testing.T) {
+	for _, e := range []api.Expr{{}, {Args: []api.Expr{}}, {Args: make([]api.Expr, 0, 3)}} {
+		if Expr(e) {
+			t.Errorf("%#v is an expression", e)
+		}
+	}
+	one := sample.Lit(sample.Int(1))
+	for _, e := range []api.Expr{
+		one, sample.Col("a"), sample.Op(api.Neg, one), {Op: -1}, {Op: 1 << 32}, {Name: "a"}, {Args: []api.Expr{one}}, {Args: make([]api.Expr, 1)},
+		{Value: api.Value{Kind: 1}}, {Value: api.Value{Int: -1}}, {Value: api.Value{Bits: 1 << 63}}, {Value: api.Value{Text: "a"}},
+	} {
+		if !Expr(e) {
+			t.Errorf("%#v is no expression at all", e)
+		}
+	}
+}
