@@ -143,3 +143,20 @@ func TestRowsAreNew(t *testing.T) {
 		t.Error("the rows are shared")
 	}
 }
+
+// TestSharedRows: two drawers that were handed in with the same list are answered with one each.
+func TestSharedRows(t *testing.T) {
+	h := someHanded()
+	h.table.Drawers[1] = h.table.Drawers[0]
+	for i, call := range calls(h) {
+		x := call()
+		want := sample.CopyOfTable(x)
+		for _, c := range x.Drawers[0] {
+			sample.SpoilList(c.Row, sample.Text("spoilt"))
+		}
+		x.Drawers[0] = want.Drawers[0]
+		if !same(x, want) {
+			t.Errorf("call %d: the drawers of the answer share rows", i)
+		}
+	}
+}
