@@ -41,7 +41,12 @@ func FilledColumns() []api.Column {
 	return l
 }
 
-// Rows of such columns. Which ones hangs on chance, which is to answer a number from 0 up to, but not with, its own.
+// TwoColumns, a number and a text, that may not be null.
+func TwoColumns() []api.Column {
+	return []api.Column{Filled("k", api.Int), Filled("a", api.Text)}
+}
+
+// Rows of Columns. Which ones hangs on chance, which is to answer a number from 0 up to, but not with, its own.
 func Rows(chance func(n int) int, n int) [][]api.Value {
 	var l [][]api.Value
 	for range n {
@@ -58,7 +63,7 @@ func Rows(chance func(n int) int, n int) [][]api.Value {
 	return l
 }
 
-// Leaves over such columns: a literal of each Kind, Null first, each column, and one that there is not.
+// Leaves over Columns: a literal of each Kind, Null first, each column, and one that there is not.
 func Leaves() []api.Expr {
 	var l []api.Expr
 	for kind := api.Null; kind <= api.Text; kind++ {
@@ -116,7 +121,7 @@ func Lines(op int) []Line {
 	return l
 }
 
-// Grown over such columns, of such a depth at most; mostly with the Kind that is asked for (Null: any). Which one hangs on chance, which is to answer a number from 0 up to, but not with, its own.
+// Grown over Columns, of such a depth at most; mostly with the Kind that is asked for (Null: any). Which one hangs on chance, which is to answer a number from 0 up to, but not with, its own.
 func Grown(chance func(n int) int, most, asked int) api.Expr {
 	l := Leaves()
 	switch chance(50) {

@@ -88,7 +88,7 @@ func Tables() []api.Table {
 // WrongTables that may not be, and why; of those with more than one fault the first one.
 func WrongTables() map[api.Errno][]api.Table {
 	one := KeyColumn()
-	two := []api.Column{Filled("k", api.Int), Filled("a", api.Text)}
+	two := TwoColumns()
 	l := map[api.Errno][]api.Table{
 		api.ErrNone: {{}, {Name: "t", Cols: one}, {Name: "T", Cols: make([]api.Column, api.MaxCols+1)}},
 		api.ErrSize: {

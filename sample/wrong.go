@@ -54,6 +54,36 @@ func WrongKinds() []int {
 	return []int{-1, -2, 5, 6, 256, 257, 260, 1<<32 + 1, 1<<32 + 2, math.MinInt, math.MinInt + 1, math.MaxInt}
 }
 
+// WrongColumns that may not be, and why.
+func WrongColumns() map[api.Errno][][]api.Column {
+	a := Filled("a", api.Int)
+	return map[api.Errno][][]api.Column{
+		api.ErrSize:  {make([]api.Column, api.MaxCols+1), append(Columns(), a)},
+		api.ErrForm:  {{{}}, {a, Filled("A", api.Int)}},
+		api.ErrKind:  {{Filled("a", api.Null)}, {a, Column("b", 5)}},
+		api.ErrTwice: {{a, a}, append(Columns()[:4], Filled("b", api.Int))},
+	}
+}
+
+// WrongRow that does not fit columns, and why.
+type WrongRow struct {
+	Row []api.Value
+	Why api.Errno
+}
+
+// WrongRows: each way not to fit TwoColumns.
+func WrongRows() []WrongRow {
+	l := []WrongRow{
+		{nil, api.ErrSize}, {Row(Int(50)), api.ErrSize}, {Row(Int(50), Text(""), Null()), api.ErrSize},
+		{Row(Null(), Text("")), api.ErrNull}, {Row(Int(50), Null()), api.ErrNull},
+		{Row(Text(""), Int(50)), api.ErrKind}, {Row(Bool(1), Text("")), api.ErrKind}, {Row(Int(50), Real(0)), api.ErrKind},
+	}
+	for _, r := range RefusedValues() {
+		l = append(l, WrongRow{Row(r.Value, Text("")), r.Why}, WrongRow{Row(Int(50), r.Value), r.Why})
+	}
+	return l
+}
+
 // WrongExprs: expressions that may not be, and why.
 func WrongExprs() map[api.Errno][]api.Expr {
 	one, missing := Lit(Int(1)), Col("y")

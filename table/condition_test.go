@@ -13,17 +13,6 @@ func noneAtAll() []api.Expr {
 	return []api.Expr{{}, {Args: []api.Expr{}}}
 }
 
-// wrongColumns, and why.
-func wrongColumns() map[api.Errno][][]api.Column {
-	a := sample.Filled("a", api.Int)
-	return map[api.Errno][][]api.Column{
-		api.ErrSize:  {make([]api.Column, api.MaxCols+1), append(sample.Columns(), a)},
-		api.ErrForm:  {{{}}, {a, sample.Filled("A", api.Int)}},
-		api.ErrKind:  {{sample.Filled("a", api.Null)}, {a, sample.Column("b", 5)}},
-		api.ErrTwice: {{a, a}, append(sample.Columns()[:4], sample.Filled("b", api.Int))},
-	}
-}
-
 // mustRefuseCondition: what Condition refuses Holds does, too, whatever the row is.
 func mustRefuseCondition(t *testing.T, want api.Errno, e api.Expr, cols []api.Column) {
 	t.Helper()
@@ -75,7 +64,7 @@ func TestConditionRefuses(t *testing.T) {
 			mustRefuseCondition(t, want, e, []api.Column{{}, {}})
 		}
 	}
-	for want, l := range wrongColumns() {
+	for want, l := range sample.WrongColumns() {
 		for _, cols := range l {
 			for _, e := range append(noneAtAll(), written.Expr("TRUE"), written.Expr("1"), written.Expr("y")) {
 				mustRefuseCondition(t, want, e, cols)

@@ -112,29 +112,25 @@ func TestCheckRefuses(t *testing.T) {
 	}
 }
 
-// wrongCell of the columns k, a number, and a, a text; neither may be null.
+// wrongCell of two columns, and why.
 type wrongCell struct {
 	cell api.Cell
 	want api.Errno
 }
 
 func wrongCells() []wrongCell {
-	full := func(values ...api.Value) api.Cell { return api.Cell{Full: true, Row: values} }
 	l := []wrongCell{
 		{api.Cell{Row: sample.Row(sample.Int(50), sample.Text(""))}, api.ErrForm}, {api.Cell{Row: make([]api.Value, 1)}, api.ErrForm}, {api.Cell{Row: make([]api.Value, 9)}, api.ErrForm},
-		{full(), api.ErrSize}, {full(sample.Int(50)), api.ErrSize}, {full(sample.Int(50), sample.Text(""), sample.Null()), api.ErrSize},
-		{full(sample.Null(), sample.Text("")), api.ErrNull}, {full(sample.Int(50), sample.Null()), api.ErrNull},
-		{full(sample.Text(""), sample.Int(50)), api.ErrKind}, {full(sample.Bool(1), sample.Text("")), api.ErrKind}, {full(sample.Int(50), sample.Real(0)), api.ErrKind},
 	}
-	for _, r := range sample.RefusedValues() {
-		l = append(l, wrongCell{full(r.Value, sample.Text("")), r.Why}, wrongCell{full(sample.Int(50), r.Value), r.Why})
+	for _, w := range sample.WrongRows() {
+		l = append(l, wrongCell{api.Cell{Full: true, Row: w.Row}, w.Why})
 	}
 	return l
 }
 
 // keyAndText: a table of two columns without nulls, whose cells are all full.
 func keyAndText() api.Table {
-	x := sample.Table([]api.Column{sample.Filled("k", api.Int), sample.Filled("a", api.Text)})
+	x := sample.Table(sample.TwoColumns())
 	for i := range x.Drawers {
 		for j := range x.Drawers[i] {
 			x.Drawers[i][j] = api.Cell{Full: true, Row: sample.Row(sample.Int(10-j), sample.Text("same"))}
