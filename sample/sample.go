@@ -1,4 +1,4 @@
-// Package sample: values, tokens, expressions, columns, trees, tables and bytes for the tests of all layers, in short. The program itself does not use it.
+// Package sample: values, tokens, expressions, columns, trees, tables, queries and bytes for the tests of all layers, in short. The program itself does not use it.
 package sample
 
 import (

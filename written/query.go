@@ -1,0 +1,97 @@
+package written
+
+import (
+	"slices"
+
+	"chirograph/api"
+	"chirograph/expr"
+	"chirograph/lex"
+)
+
+// Query of a text, which must be one: as a SELECT is written (P18.1), but without that word, and without FROM and what stands behind that.
+func Query(text string) api.Query {
+	tokens, _, why := lex.Cut(text)
+	if why != api.OK {
+		panic("no query: " + text)
+	}
+	r := reader{tokens}
+	q := api.Query{Items: list(&r, r.item)}
+	if r.takes("WHERE") {
+		q.Where = r.expr()
+	}
+	if r.takes("GROUP", "BY") {
+		q.Group = r.next(api.Name).Text
+	}
+	if r.takes("ORDER", "BY") {
+		q.Sorts = list(&r, r.sort)
+	}
+	if r.takes("LIMIT") {
+		q.Cut, q.Most = true, r.next(api.Number).Int
+	}
+	if len(r.tokens) > 0 {
+		panic("no query: " + text)
+	}
+	return q
+}
+
+// reader of the tokens that are left.
+type reader struct{ tokens []api.Token }
+
+// list: one or more, a comma between.
+func list[T any](r *reader, one func() T) []T {
+	l := []T{one()}
+	for r.takes(",") {
+		l = append(l, one())
+	}
+	return l
+}
+
+// takes such words or signs, if they are the next ones.
+func (r *reader) takes(marks ...string) bool {
+	for i, mark := range marks {
+		if i == len(r.tokens) || r.tokens[i].Kind == api.Quote || r.tokens[i].Text != mark {
+			return false
+		}
+	}
+	r.tokens = r.tokens[len(marks):]
+	return true
+}
+
+// next token, which must be of such a Kind.
+func (r *reader) next(kind int) api.Token {
+	if len(r.tokens) == 0 || r.tokens[0].Kind != kind {
+		panic("no such token")
+	}
+	t := r.tokens[0]
+	r.tokens = r.tokens[1:]
+	return t
+}
+
+func (r *reader) expr() api.Expr {
+	x, to, _, why := expr.Ahead(r.tokens, 0)
+	if why != api.OK {
+		panic("no expression")
+	}
+	r.tokens = r.tokens[to:]
+	return x
+}
+
+func (r *reader) item() api.Item {
+	if r.takes("COUNT", "(", "*", ")") {
+		return api.Item{Agg: api.Count}
+	}
+	agg := slices.IndexFunc([]string{api.Sum: "SUM", api.Min: "MIN", api.Max: "MAX"}, func(word string) bool { return word != "" && r.takes(word, "(") })
+	if agg < 0 {
+		return api.Item{Expr: r.expr()}
+	}
+	x := r.expr()
+	if !r.takes(")") {
+		panic("no item")
+	}
+	return api.Item{Agg: agg, Expr: x}
+}
+
+func (r *reader) sort() api.Sort {
+	n := r.next(api.Number).Int
+	return api.Sort{Item: n, Down: r.takes("DESC")}
+}
