@@ -236,7 +236,7 @@ func TestRows(t *testing.T) {
 		fails := func(want api.Errno, rows ...[]api.Value) {
 			t.Helper()
 			if told, why := Run(cols, rows, written.Query(text)); len(told) > 0 || why != want {
-				t.Errorf("%s, asked of %d rows, tells %s (%d), want none (%d)", text, len(rows), lines(told), why, want)
+				t.Errorf("%s, asked of %d rows, tells %s (%d), want none (%d)", text, len(rows), written.Rows(told), why, want)
 			}
 		}
 		for _, n := range []int{api.MaxRows + 1, 256, 256 + api.MaxRows, 100000} {
@@ -266,9 +266,9 @@ func TestFaultsInRows(t *testing.T) {
 		"SUM ( 9223372036854775807 ) , MAX ( 1 / ( x - 3 ) )": api.ErrZero, "SUM ( 9223372036854775807 ) , MAX ( t || 'xxxxxxxxxxxxxxxxxxxxxxxxxxxxxxxxxxxxxxxx' )": api.ErrSize, "b , SUM ( 9223372036854775807 ) , MIN ( 1 / ( x - 3 ) ) GROUP BY b": api.ErrZero,
 		"1 / ( x - 3 ) LIMIT 0": api.ErrZero, "1 / ( x - 3 ) LIMIT 2": api.ErrZero, "x WHERE 1 / ( x - 3 ) > 0 LIMIT 1": api.ErrZero, "SUM ( 9223372036854775807 ) LIMIT 0": api.ErrRange, "SUM ( x + 9223372036854775800 ) GROUP BY b LIMIT 1": api.ErrRange,
 	} {
-		if told, why := Run(sample.KeyedColumns(), someRows(), written.Query(text)); len(told) > 0 || why != want {
-			t.Errorf("%s tells %s (%d), want none (%d)", text, lines(told), why, want)
+		if told, why := Run(sample.KeyedColumns(), sample.FiveRows(), written.Query(text)); len(told) > 0 || why != want {
+			t.Errorf("%s tells %s (%d), want none (%d)", text, written.Rows(told), why, want)
 		}
 	}
-	mustTell(t, someRows(), []asked{{"SUM ( 9223372036854775807 ) GROUP BY x", "9223372036854775807; 9223372036854775807; 9223372036854775807; 9223372036854775807; 9223372036854775807"}, {"x , SUM ( x + 9223372036854775802 ) GROUP BY x LIMIT 1", "1 9223372036854775803"}})
+	mustTell(t, sample.FiveRows(), []asked{{"SUM ( 9223372036854775807 ) GROUP BY x", "9223372036854775807; 9223372036854775807; 9223372036854775807; 9223372036854775807; 9223372036854775807"}, {"x , SUM ( x + 9223372036854775802 ) GROUP BY x LIMIT 1", "1 9223372036854775803"}})
 }

@@ -4,57 +4,12 @@ import (
 	"math"
 	"slices"
 	"strconv"
-	"strings"
 	"testing"
 
 	"chirograph/api"
 	"chirograph/sample"
 	"chirograph/written"
 )
-
-// shown: a value in short; a null is -.
-func shown(v api.Value) string {
-	switch v {
-	case sample.Bool(0):
-		return "false"
-	case sample.Bool(1):
-		return "true"
-	case sample.Int(v.Int):
-		return strconv.Itoa(v.Int)
-	case sample.Bits(v.Bits):
-		return strconv.FormatFloat(math.Float64frombits(v.Bits), 'g', -1, 64)
-	case sample.Text(v.Text):
-		return "'" + v.Text + "'"
-	case sample.Null():
-		return "-"
-	}
-	return "no value"
-}
-
-// lines: rows in short.
-func lines(rows [][]api.Value) string {
-	var l []string
-	for _, row := range rows {
-		var values []string
-		for _, v := range row {
-			values = append(values, shown(v))
-		}
-		l = append(l, strings.Join(values, " "))
-	}
-	return strings.Join(l, "; ")
-}
-
-// someRows of the columns x, b, i, r and t.
-func someRows() [][]api.Value {
-	yes, no, null, n, r, text := sample.Bool(1), sample.Bool(0), sample.Null(), sample.Int, sample.Real, sample.Text
-	return [][]api.Value{
-		sample.Row(n(4), yes, n(7), r(0), text("b")),
-		sample.Row(n(1), yes, n(5), r(1.5), text("b")),
-		sample.Row(n(5), yes, null, r(1.5), text("")),
-		sample.Row(n(2), null, null, null, text("a")),
-		sample.Row(n(3), no, n(5), r(math.Inf(-1)), null),
-	}
-}
 
 // asked: a query as it is written, and what is told, in lines.
 type asked struct{ text, want string }
@@ -64,7 +19,7 @@ func mustTell(t *testing.T, rows [][]api.Value, l []asked) {
 	t.Helper()
 	for _, a := range l {
 		told, why := Run(sample.KeyedColumns(), rows, written.Query(a.text))
-		if got := lines(told); got != a.want || why != api.OK {
+		if got := written.Rows(told); got != a.want || why != api.OK {
 			t.Errorf("%s tells %s (%d), want %s", a.text, got, why, a.want)
 		}
 	}
@@ -72,7 +27,7 @@ func mustTell(t *testing.T, rows [][]api.Value, l []asked) {
 
 // TestPlain: P14.1 and P14.3, of each row of which the condition holds, in their order.
 func TestPlain(t *testing.T) {
-	mustTell(t, someRows(), []asked{
+	mustTell(t, sample.FiveRows(), []asked{
 		{"x", "4; 1; 5; 2; 3"}, {"x , x", "4 4; 1 1; 5 5; 2 2; 3 3"}, {"t , b", "'b' true; 'b' true; '' true; 'a' -; - false"}, {"r", "0; 1.5; 1.5; -; -Inf"}, {"i", "7; 5; -; -; 5"},
 		{"1", "1; 1; 1; 1; 1"}, {"NULL", "-; -; -; -; -"}, {"x + i", "11; 6; -; -; 8"}, {"x , i = 5 , LENGTH ( t ) , t || t", "4 false 1 'bb'; 1 true 1 'bb'; 5 - 0 ''; 2 - 1 'aa'; 3 true - -"},
 		{"x WHERE b", "4; 1; 5"}, {"x WHERE NOT b", "3"}, {"x WHERE b IS NULL", "2"}, {"x WHERE i = 5", "1; 3"}, {"x WHERE i <> 5", "4"}, {"i WHERE x = 5", "-"},
@@ -81,13 +36,13 @@ func TestPlain(t *testing.T) {
 		{"- x , COALESCE ( t , 'none' ) , TRUE , #7ff0000000000000 WHERE x * x > 9", "-4 'b' true +Inf; -5 '' true +Inf"},
 	})
 	mustTell(t, nil, []asked{{"x", ""}, {"x WHERE TRUE", ""}, {"1 / 0", ""}, {"NULL", ""}, {"x WHERE 1 / 0 = 1", ""}})
-	row := someRows()[0]
+	row := sample.FiveRows()[0]
 	mustTell(t, [][]api.Value{row, row, row}, []asked{{"x", "4; 4; 4"}, {"x , t WHERE x = 4", "4 'b'; 4 'b'; 4 'b'"}})
 }
 
 // TestSums: P14.3, of all rows of which the condition holds, even if there are none.
 func TestSums(t *testing.T) {
-	mustTell(t, someRows(), []asked{
+	mustTell(t, sample.FiveRows(), []asked{
 		{"COUNT ( * )", "5"}, {"COUNT ( * ) , COUNT ( * )", "5 5"}, {"SUM ( x )", "15"}, {"COUNT ( * ) , SUM ( i ) , MIN ( i ) , MAX ( i )", "5 17 5 7"}, {"MAX ( i ) , MIN ( i ) , SUM ( i ) , COUNT ( * )", "7 5 17 5"},
 		{"MIN ( t ) , MAX ( t )", "'' 'b'"}, {"MIN ( b ) , MAX ( b )", "false true"}, {"MIN ( r ) , MAX ( r )", "-Inf 1.5"}, {"MIN ( x ) , MAX ( x ) , SUM ( - x ) , SUM ( x * i )", "1 5 -15 48"},
 		{"SUM ( NULL ) , MIN ( NULL ) , MAX ( NULL )", "- - -"}, {"SUM ( COALESCE ( NULL , NULL ) ) , SUM ( NULL + 1 )", "- -"}, {"SUM ( 1 ) , SUM ( 0 ) , MIN ( 'a' ) , MAX ( TRUE )", "5 0 'a' true"},
@@ -102,7 +57,7 @@ func TestSums(t *testing.T) {
 
 // TestGroups: P14.3, a row for each group, in the order of their values, a null first; none of no rows.
 func TestGroups(t *testing.T) {
-	mustTell(t, someRows(), []asked{
+	mustTell(t, sample.FiveRows(), []asked{
 		{"b , COUNT ( * ) GROUP BY b", "- 1; false 1; true 3"}, {"COUNT ( * ) , b GROUP BY b", "1 -; 1 false; 3 true"}, {"COUNT ( * ) GROUP BY b", "1; 1; 3"}, {"r , COUNT ( * ) GROUP BY r", "- 1; -Inf 1; 0 1; 1.5 2"},
 		{"t , t , COUNT ( * ) , t GROUP BY t", "- - 1 -; '' '' 1 ''; 'a' 'a' 1 'a'; 'b' 'b' 2 'b'"}, {"t , MIN ( x ) , MAX ( x ) , SUM ( i ) GROUP BY t", "- 3 3 5; '' 5 5 -; 'a' 2 2 -; 'b' 1 4 12"},
 		{"i , SUM ( x ) , MIN ( t ) , MAX ( r ) GROUP BY i", "- 7 '' 1.5; 5 4 'b' 1.5; 7 4 'b' 0"}, {"x , COUNT ( * ) , SUM ( x ) , MAX ( i ) GROUP BY x", "1 1 1 5; 2 1 2 -; 3 1 3 5; 4 1 4 7; 5 1 5 -"},
@@ -120,7 +75,7 @@ func TestGroups(t *testing.T) {
 
 // TestGroupWithoutSums: P14.3, without sums a row is told for each row, in their order, with a Group, too.
 func TestGroupWithoutSums(t *testing.T) {
-	mustTell(t, someRows(), []asked{
+	mustTell(t, sample.FiveRows(), []asked{
 		{"i GROUP BY i", "7; 5; -; -; 5"}, {"t , t GROUP BY t", "'b' 'b'; 'b' 'b'; '' ''; 'a' 'a'; - -"}, {"i WHERE x < 5 GROUP BY i", "7; 5; -; 5"},
 		{"b GROUP BY b ORDER BY 1", "-; false; true; true; true"}, {"i GROUP BY i ORDER BY 1 DESC LIMIT 2", "7; 5"}, {"x WHERE FALSE GROUP BY x", ""},
 	})
@@ -128,7 +83,7 @@ func TestGroupWithoutSums(t *testing.T) {
 
 // TestSorts: P14.4, by one sort behind the other, up or down; where all are the same they stand as they stood.
 func TestSorts(t *testing.T) {
-	mustTell(t, someRows(), []asked{
+	mustTell(t, sample.FiveRows(), []asked{
 		{"x ORDER BY 1", "1; 2; 3; 4; 5"}, {"x ORDER BY 1 DESC", "5; 4; 3; 2; 1"}, {"- x , x ORDER BY 1", "-5 5; -4 4; -3 3; -2 2; -1 1"},
 		{"i , x ORDER BY 1", "- 5; - 2; 5 1; 5 3; 7 4"}, {"i , x ORDER BY 1 DESC", "7 4; 5 1; 5 3; - 5; - 2"}, {"i , x ORDER BY 1 , 2", "- 2; - 5; 5 1; 5 3; 7 4"}, {"i , x ORDER BY 1 , 2 DESC", "- 5; - 2; 5 3; 5 1; 7 4"},
 		{"i , x ORDER BY 1 DESC , 2", "7 4; 5 1; 5 3; - 2; - 5"}, {"i , x ORDER BY 1 DESC , 2 DESC", "7 4; 5 3; 5 1; - 5; - 2"}, {"i , x ORDER BY 2 , 1", "5 1; - 2; 5 3; 7 4; - 5"}, {"i , x ORDER BY 2 DESC", "- 5; 7 4; 5 3; - 2; 5 1"},
@@ -141,20 +96,11 @@ func TestSorts(t *testing.T) {
 
 // TestCut: P14.4, the first ones behind all sorting, or all, if there are fewer.
 func TestCut(t *testing.T) {
-	mustTell(t, someRows(), []asked{
+	mustTell(t, sample.FiveRows(), []asked{
 		{"x LIMIT 0", ""}, {"x LIMIT 1", "4"}, {"x LIMIT 4", "4; 1; 5; 2"}, {"x LIMIT 5", "4; 1; 5; 2; 3"}, {"x LIMIT 6", "4; 1; 5; 2; 3"}, {"x LIMIT 9223372036854775807", "4; 1; 5; 2; 3"}, {"x LIMIT 256", "4; 1; 5; 2; 3"}, {"x LIMIT 4294967296", "4; 1; 5; 2; 3"},
 		{"x ORDER BY 1 LIMIT 2", "1; 2"}, {"x ORDER BY 1 DESC LIMIT 2", "5; 4"}, {"i , x ORDER BY 1 LIMIT 1", "- 5"}, {"x WHERE NOT b LIMIT 3", "3"}, {"x WHERE b LIMIT 2", "4; 1"}, {"x WHERE FALSE LIMIT 2", ""},
 		{"COUNT ( * ) LIMIT 0", ""}, {"COUNT ( * ) LIMIT 1", "5"}, {"SUM ( x ) LIMIT 7", "15"}, {"b , COUNT ( * ) GROUP BY b LIMIT 2", "- 1; false 1"}, {"b , COUNT ( * ) GROUP BY b ORDER BY 2 DESC LIMIT 1", "true 3"},
 	})
-}
-
-// numbers: rows of a number each.
-func numbers(l ...int) [][]api.Value {
-	var rows [][]api.Value
-	for _, n := range l {
-		rows = append(rows, sample.Row(sample.Int(n)))
-	}
-	return rows
 }
 
 // TestWideSums: P14.3, whatever the sum of some of them may be, in whichever order they come.
@@ -173,9 +119,9 @@ func TestWideSums(t *testing.T) {
 		for turn := range len(c.l) {
 			l := slices.Concat(c.l[turn:], c.l[:turn])
 			for range 2 {
-				told, why := Run(sample.KeyColumn(), numbers(l...), written.Query("SUM ( k )"))
-				if c.why == api.OK && (lines(told) != strconv.Itoa(c.want) || why != api.OK) || c.why != api.OK && (len(told) > 0 || why != c.why) {
-					t.Errorf("the sum of %d is %s (%d), want %d (%d)", l, lines(told), why, c.want, c.why)
+				told, why := Run(sample.KeyColumn(), sample.Numbers(l...), written.Query("SUM ( k )"))
+				if c.why == api.OK && (written.Rows(told) != strconv.Itoa(c.want) || why != api.OK) || c.why != api.OK && (len(told) > 0 || why != c.why) {
+					t.Errorf("the sum of %d is %s (%d), want %d (%d)", l, written.Rows(told), why, c.want, c.why)
 				}
 				slices.Reverse(l)
 			}
@@ -190,12 +136,12 @@ func TestAllRows(t *testing.T) {
 		l = append(l, k*37%api.MaxRows)
 	}
 	for text, want := range map[string]int{"k": 64, "COUNT ( * )": 1, "k , COUNT ( * ) GROUP BY k": 64, "k WHERE k < 10": 10, "k LIMIT 63": 63} {
-		told, why := Run(sample.KeyColumn(), numbers(l...), written.Query(text))
+		told, why := Run(sample.KeyColumn(), sample.Numbers(l...), written.Query(text))
 		if len(told) != want || why != api.OK {
 			t.Errorf("%s tells %d rows (%d), want %d", text, len(told), why, want)
 		}
 	}
-	told, why := Run(sample.KeyColumn(), numbers(l...), written.Query("k ORDER BY 1"))
+	told, why := Run(sample.KeyColumn(), sample.Numbers(l...), written.Query("k ORDER BY 1"))
 	for k, row := range told {
 		if row[0].Int != k || why != api.OK {
 			t.Errorf("the row %d is %d (%d)", k, row[0].Int, why)
@@ -207,8 +153,8 @@ func TestAllRows(t *testing.T) {
 func TestNoColumns(t *testing.T) {
 	for text, want := range map[string]string{"COUNT ( * )": "3", "1 , 'a'": "1 'a'; 1 'a'; 1 'a'", "SUM ( 2 )": "6", "1 WHERE FALSE": ""} {
 		told, why := Run(nil, [][]api.Value{nil, {}, nil}, written.Query(text))
-		if lines(told) != want || why != api.OK {
-			t.Errorf("%s tells %s (%d), want %s", text, lines(told), why, want)
+		if written.Rows(told) != want || why != api.OK {
+			t.Errorf("%s tells %s (%d), want %s", text, written.Rows(told), why, want)
 		}
 	}
 }

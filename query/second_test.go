@@ -12,6 +12,7 @@ import (
 	"chirograph/eval"
 	"chirograph/kinds"
 	"chirograph/sample"
+	"chirograph/written"
 )
 
 // second way of saying what P14.2 to P14.4 do, of rows of the columns of package sample: how values stand is told by their bytes (P2.1), sums are reckoned in numbers of any size; the first fault ends all by a panic.
@@ -206,30 +207,16 @@ func sorted(rows [][]api.Value, sorts []api.Sort) [][]api.Value {
 	return l
 }
 
-// rowsBy chance: at times too many, or one that does not fit.
-func rowsBy(chance *rand.Rand) [][]api.Value {
-	rows := sample.Rows(chance.Intn, chance.Intn(1+chance.Intn(20)))
-	switch chance.Intn(60) {
-	case 0:
-		rows = sample.Rows(chance.Intn, api.MaxRows-1+chance.Intn(3))
-	case 1:
-		rows = append(rows, make([]api.Value, 4+chance.Intn(3)))
-	case 2:
-		rows = append(rows, sample.Row(sample.Int(1), sample.Null(), sample.Null(), sample.Null(), sample.Int(1)))
-	}
-	return rows
-}
-
 // TestManyQueries: P14.2 to P14.4, against the second way.
 func TestManyQueries(t *testing.T) {
 	chance := rand.New(rand.NewSource(14))
 	counts, ways := map[api.Errno]int{}, map[string]int{}
 	for range 60000 {
-		q, rows := sample.Query(chance.Intn), rowsBy(chance)
+		q, rows := sample.Query(chance.Intn), sample.RowsToAsk(chance.Intn)
 		want, why := second(rows, q)
 		told, got := Run(sample.Columns(), rows, q)
-		if got != why || !slices.EqualFunc(told, want, slices.Equal) {
-			t.Fatalf("Run(%+v, %+v) = %s (%d), want %s (%d)", rows, q, lines(told), got, lines(want), why)
+		if got != why || !sample.SameRows(told, want) {
+			t.Fatalf("Run(%+v, %+v) = %s (%d), want %s (%d)", rows, q, written.Rows(told), got, written.Rows(want), why)
 		}
 		if _, checked := second(nil, q); Check(sample.Columns(), q) != checked {
 			t.Fatalf("Check(%+v) = %d, want %d", q, Check(sample.Columns(), q), checked)

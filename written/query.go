@@ -95,3 +95,11 @@ func (r *reader) sort() api.Sort {
 	n := r.next(api.Number).Int
 	return api.Sort{Item: n, Down: r.takes("DESC")}
 }
+
+// Queries of KeyedColumns of package sample, as they are written: each way to tell, with texts and without.
+func Queries() []string {
+	return []string{
+		"t , x , t", "x + i , b AND TRUE , 'a' , t || 'b'", "t , t WHERE x > 1 AND ( x < 5 OR r IS NULL )", "t , x ORDER BY 1 DESC , 2", "t , 'a' ORDER BY 2 LIMIT 3", "t LIMIT 2", "x LIMIT 0",
+		"MIN ( t ) , MAX ( t ) , MAX ( t ) , COUNT ( * )", "SUM ( x + i ) , MIN ( 'a' )", "t , t , MAX ( t ) , MIN ( t ) GROUP BY t", "t , COUNT ( * ) GROUP BY t ORDER BY 2 DESC , 1 LIMIT 3", "t , t GROUP BY t ORDER BY 1",
+	}
+}

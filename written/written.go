@@ -1,4 +1,4 @@
-// Package written: expressions, and queries, as they are written, for the tests of the layers that stand on expr. The program itself does not use it.
+// Package written: expressions and queries as they are written, and rows in short, for the tests of the layers that stand on expr. The program itself does not use it.
 package written
 
 import (
