@@ -9,15 +9,18 @@ import (
 	"chirograph/table"
 )
 
-// met: what is asked of a row of which the condition holds.
-type met struct {
+// Met: what is asked of a row of which the condition holds.
+type Met struct {
 	group api.Value   // in the column of the Group; without one null, which is the same in all rows
 	items []api.Value // that of a Count is not reckoned, and stays null
 }
 
-// meet the rows of which the condition holds, in their order, or the first fault.
-func meet(cols []api.Column, rows [][]api.Value, q api.Query) ([]met, api.Errno) {
-	var l []met
+// Meeting of rows with a query that may be asked of them.
+type Meeting func(cols []api.Column, rows [][]api.Value, q api.Query) ([]Met, api.Errno)
+
+// Meet the rows of which the condition holds, in their order, or the first fault. Of rows that stand behind one another it may be asked piece by piece.
+func Meet(cols []api.Column, rows [][]api.Value, q api.Query) ([]Met, api.Errno) {
+	var l []Met
 	place := known.Column(q.Group, cols)
 	for row, why := range holding(cols, rows, q.Where) {
 		if why != api.OK {
@@ -27,7 +30,7 @@ func meet(cols []api.Column, rows [][]api.Value, q api.Query) ([]met, api.Errno)
 		if why != api.OK {
 			return nil, why
 		}
-		m := met{items: items}
+		m := Met{items: items}
 		if q.Group != "" {
 			m.group = row[place]
 		}

@@ -8,7 +8,7 @@ import (
 )
 
 // tell of the rows that were met: each of them, or their groups (P14.3).
-func tell(l []met, q api.Query) ([][]api.Value, api.Errno) {
+func tell(l []Met, q api.Query) ([][]api.Value, api.Errno) {
 	if !slices.ContainsFunc(q.Items, isSum) {
 		return itemsOf(l), api.OK
 	}
@@ -23,7 +23,7 @@ func tell(l []met, q api.Query) ([][]api.Value, api.Errno) {
 	return told, api.OK
 }
 
-func itemsOf(l []met) [][]api.Value {
+func itemsOf(l []Met) [][]api.Value {
 	var told [][]api.Value
 	for _, m := range l {
 		told = append(told, m.items)
@@ -34,11 +34,11 @@ func itemsOf(l []met) [][]api.Value {
 // group of rows that are the same in a column.
 type group struct {
 	value api.Value
-	rows  []met
+	rows  []Met
 }
 
 // groupsOf rows, in the order of their values. Without a column there is just one, even of no rows.
-func groupsOf(l []met, col string) []group {
+func groupsOf(l []Met, col string) []group {
 	if col == "" {
 		return []group{{rows: l}}
 	}

@@ -1,0 +1,57 @@
+package split
+
+import (
+	"reflect"
+	"testing"
+	"unsafe"
+
+	"chirograph/api"
+	"chirograph/sample"
+	"chirograph/written"
+)
+
+// handedIn: a query as it is written, asked of five rows, with spare room behind each list.
+func handedIn(text string) sample.Asked {
+	return sample.Asked{Cols: sample.KeyedColumns(), Rows: sample.FiveRows(), Query: written.Query(text)}.Roomy()
+}
+
+// answerTo what is handed in, by so many workers, time and again.
+func answerTo(a sample.Asked, workers int) func() [][]api.Value {
+	return func() [][]api.Value {
+		told, _ := Run(a.Cols, a.Rows, a.Query, workers)
+		return told
+	}
+}
+
+// at: where the bytes of a text lie.
+func at(s string) *byte { return unsafe.StringData(s) }
+
+// TestNothingIsChanged: what is handed in stays as it is, its spare room, too, be there a fault or not.
+func TestNothingIsChanged(t *testing.T) {
+	for _, text := range append(written.Queries(), "1 / ( x - 3 ) ORDER BY 1", "SUM ( 9223372036854775807 )", "x WHERE 1 / ( x - 3 ) = 0", "y", "SUM ( t ) ORDER BY 2") {
+		for workers := range api.MaxWork + 2 {
+			a := handedIn(text)
+			before := a.Whole()
+			answerTo(a, workers)()
+			if !reflect.DeepEqual(a.Whole(), before) {
+				t.Errorf("%s, asked by %d workers, changed what was handed in: %+v, it was %+v", text, workers, a.Whole(), before)
+			}
+		}
+	}
+}
+
+// TestAnswersAreNew: no list and no text of an answer is shared with what was handed in, with another answer, or with another one of its own; nothing stands in its spare room.
+func TestAnswersAreNew(t *testing.T) {
+	for _, text := range written.Queries() {
+		for workers := 1; workers <= api.MaxWork; workers++ {
+			a := handedIn(text)
+			before := a.Whole()
+			if !sample.RowsApart(answerTo(a, workers)) || !sample.TextsApart(at, a.Rows, answerTo(a, workers)) || !reflect.DeepEqual(a.Whole(), before) {
+				t.Errorf("%s, asked by %d workers: what is told is shared", text, workers)
+			}
+			if !sample.Bare(answerTo(a, workers)()) {
+				t.Errorf("%s, asked by %d workers: something stands behind what is told", text, workers)
+			}
+		}
+	}
+}
