@@ -100,3 +100,28 @@ func WholeTree(t api.Tree) api.Tree {
 	}
 	return CopyOfTree(Tree(whole...))
 }
+
+// SameTree tells whether two trees have the same nodes; nil is as good as none.
+func SameTree(a, b api.Tree) bool {
+	return slices.EqualFunc(a.Nodes, b.Nodes, func(a, b api.Node) bool {
+		return slices.Equal(a.Keys, b.Keys) && slices.Equal(a.Vals, b.Vals) && slices.Equal(a.Kids, b.Kids)
+	})
+}
+
+// TreesApart tells whether the lists of a tree that is answered share nothing, spare room neither, with each other or with those of another call.
+func TreesApart(of func() api.Tree) bool {
+	other := of()
+	kept := CopyOfTree(other)
+	for i := range kept.Nodes {
+		t := of()
+		SpoilList(t.Nodes[i].Keys, "spoilt")
+		SpoilList(t.Nodes[i].Vals, 77)
+		SpoilList(t.Nodes[i].Kids, 77)
+		t.Nodes[i] = kept.Nodes[i]
+		if !SameTree(t, kept) {
+			return false
+		}
+	}
+	SpoilList(of().Nodes, Node("spoilt"))
+	return SameTree(other, kept) && SameTree(of(), kept)
+}

@@ -93,25 +93,12 @@ func mustAgree(t *testing.T, e api.Expr, col string) api.Range {
 	return want
 }
 
-// comparisons: all that compares, Ne too.
-func comparisons() []int {
-	return []int{api.Eq, api.Ne, api.Lt, api.Le, api.Gt, api.Ge}
-}
-
-// numberOf: a NUMBER, one below 0 as Neg of a literal.
-func numberOf(n int) api.Expr {
-	if n < 0 {
-		return sample.Op(api.Neg, sample.Lit(sample.Int(-n)))
-	}
-	return sample.Lit(sample.Int(n))
-}
-
 // TestEachTwo: P11.1, each comparison with each of some numbers, on both sides, alone and beside each other one.
 func TestEachTwo(t *testing.T) {
 	var l []api.Expr
 	for _, n := range []int{lowest + 1, lowest + 2, -2, -1, 0, 1, 2, highest - 1, highest} {
-		for _, op := range comparisons() {
-			l = append(l, sample.Op(op, sample.Col("k"), numberOf(n)), sample.Op(op, numberOf(n), sample.Col("k")))
+		for _, op := range sample.Comparisons() {
+			l = append(l, sample.Op(op, sample.Col("k"), sample.NumberOf(n)), sample.Op(op, sample.NumberOf(n), sample.Col("k")))
 		}
 	}
 	for _, a := range l {
@@ -123,23 +110,6 @@ func TestEachTwo(t *testing.T) {
 	}
 }
 
-// condition of such a depth at most, over the columns of package sample: mostly comparisons of two of them with a NUMBER, and Ands of these.
-func condition(chance *rand.Rand, most int) api.Expr {
-	switch kind := chance.Intn(9); {
-	case most > 3 && kind < 6:
-		return sample.Op(api.And, condition(chance, most-1), condition(chance, most-1))
-	case kind == 8:
-		return sample.Grown(chance.Intn, most, api.Bool)
-	}
-	numbers := []int{lowest + 1, lowest + 2, highest - 1, highest, chance.Intn(5), chance.Intn(9) - 4, chance.Int(), -chance.Int(), chance.Intn(1<<33) - 1<<32}
-	parts := []api.Expr{sample.Col([]string{"i", "x"}[chance.Intn(2)]), numberOf(numbers[chance.Intn(len(numbers))])}
-	chance.Shuffle(2, func(i, j int) { parts[i], parts[j] = parts[j], parts[i] })
-	return sample.Op(comparisons()[chance.Intn(len(comparisons()))], parts...)
-}
-
-// Places of the columns i and x among those of package sample.
-const placeOfI, placeOfX = 1, 4
-
 // within tells whether a column's value is a number of a range; a null is within all numbers alone.
 func within(v api.Value, r api.Range) bool {
 	if v == sample.Null() {
@@ -148,28 +118,12 @@ func within(v api.Value, r api.Range) bool {
 	return r.Lo <= v.Int && v.Int <= r.Hi
 }
 
-// rowsNear ranges: rows of the columns of package sample, the two that are compared mostly at or beside the ends of what is left to them.
-func rowsNear(chance *rand.Rand, i, x api.Range) [][]api.Value {
-	l := sample.Rows(chance.Intn, 10)
-	near := func(r api.Range) api.Value {
-		n := []int{r.Lo, r.Hi, chance.Intn(9) - 4}[chance.Intn(3)]
-		return sample.Int(n + chance.Intn(3) - 1) // it may wrap round: that is a number, too
-	}
-	for _, row := range l {
-		if chance.Intn(4) > 0 {
-			row[placeOfI] = near(i)
-		}
-		row[placeOfX] = near(x)
-	}
-	return l
-}
-
 // TestManyConditions: P11.1, of many large conditions; and what comes of it: where one is true the column's number is within its range.
 func TestManyConditions(t *testing.T) {
 	chance := rand.New(rand.NewSource(11))
 	counts := map[string]int{}
 	for range 20000 {
-		e := condition(chance, 2+chance.Intn(api.MaxDepth-1))
+		e := sample.Condition(chance.Intn, 2+chance.Intn(api.MaxDepth-1))
 		if expr.Check(e) != api.OK {
 			continue
 		}
@@ -182,13 +136,13 @@ func TestManyConditions(t *testing.T) {
 		default:
 			counts["some"]++
 		}
-		for _, row := range rowsNear(chance, i, x) {
+		for _, row := range sample.RowsNear(chance.Intn, 10, i, x) {
 			v, _ := eval.Eval(e, sample.Columns(), row)
 			if v != sample.Bool(1) {
 				continue
 			}
 			counts["true"]++
-			if !within(row[placeOfI], i) || !within(row[placeOfX], x) {
+			if !within(row[sample.PlaceOfI], i) || !within(row[sample.PlaceOfX], x) {
 				t.Errorf("%+v is true of %+v, and leaves %+v and %+v", e, row, i, x)
 			}
 		}

@@ -10,11 +10,6 @@ import (
 	"chirograph/written"
 )
 
-// handedIn: a query as it is written, asked of five rows, with spare room behind each list.
-func handedIn(text string) sample.Asked {
-	return sample.Asked{Cols: sample.KeyedColumns(), Rows: sample.FiveRows(), Query: written.Query(text)}.Roomy()
-}
-
 // answerTo what is handed in, by so many workers, time and again.
 func answerTo(a sample.Asked, workers int) func() [][]api.Value {
 	return func() [][]api.Value {
@@ -28,9 +23,9 @@ func at(s string) *byte { return unsafe.StringData(s) }
 
 // TestNothingIsChanged: what is handed in stays as it is, its spare room, too, be there a fault or not.
 func TestNothingIsChanged(t *testing.T) {
-	for _, text := range append(written.Queries(), "1 / ( x - 3 ) ORDER BY 1", "SUM ( 9223372036854775807 )", "x WHERE 1 / ( x - 3 ) = 0", "y", "SUM ( t ) ORDER BY 2") {
+	for _, text := range append(written.Queries(), written.Refused()...) {
 		for workers := range api.MaxWork + 2 {
-			a := handedIn(text)
+			a := written.Asked(text)
 			before := a.Whole()
 			answerTo(a, workers)()
 			if !reflect.DeepEqual(a.Whole(), before) {
@@ -44,7 +39,7 @@ func TestNothingIsChanged(t *testing.T) {
 func TestAnswersAreNew(t *testing.T) {
 	for _, text := range written.Queries() {
 		for workers := 1; workers <= api.MaxWork; workers++ {
-			a := handedIn(text)
+			a := written.Asked(text)
 			before := a.Whole()
 			if !sample.RowsApart(answerTo(a, workers)) || !sample.TextsApart(at, a.Rows, answerTo(a, workers)) || !reflect.DeepEqual(a.Whole(), before) {
 				t.Errorf("%s, asked by %d workers: what is told is shared", text, workers)

@@ -284,7 +284,7 @@ func TestComeAndGo(t *testing.T) {
 					}
 					continue
 				}
-				if again, _ := Put(tree, key, val); why != api.OK || !same(more, again) {
+				if again, _ := Put(tree, key, val); why != api.OK || !sample.SameTree(more, again) {
 					t.Fatalf("Put(%+v, %q) = %d, %+v and %+v", tree, key, why, more, again)
 				}
 				tree, has[key] = more, val
@@ -296,7 +296,7 @@ func TestComeAndGo(t *testing.T) {
 					}
 					continue
 				}
-				if again, _ := Cut(tree, key); why != api.OK || !same(less, again) {
+				if again, _ := Cut(tree, key); why != api.OK || !sample.SameTree(less, again) {
 					t.Fatalf("Cut(%+v, %q) = %d, %+v and %+v", tree, key, why, less, again)
 				}
 				delete(has, key)

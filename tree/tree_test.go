@@ -393,8 +393,11 @@ func TestListsStayApart(t *testing.T) {
 			keys = append(keys, p.Key)
 		}
 		for _, key := range keys {
-			mustStayApart(t, func() api.Tree { more, _ := Put(tree, key, 5); return more })
-			mustStayApart(t, func() api.Tree { less, _ := Cut(tree, key); return less })
+			put := func() api.Tree { more, _ := Put(tree, key, 5); return more }
+			cut := func() api.Tree { less, _ := Cut(tree, key); return less }
+			if !sample.TreesApart(put) || !sample.TreesApart(cut) {
+				t.Errorf("with %q, or without it, %+v shares a list", key, tree)
+			}
 			Find(tree, key)
 			l, _ := List(tree, "", key)
 			other, _ := List(tree, "", key)
@@ -409,42 +412,4 @@ func TestListsStayApart(t *testing.T) {
 			t.Errorf("%+v became %+v", before, whole)
 		}
 	}
-}
-
-// mustStayApart: each list of a tree that is told can be spoilt, with its spare room, and no other list is.
-func mustStayApart(t *testing.T, of func() api.Tree) {
-	t.Helper()
-	other := of()
-	kept := sample.CopyOfTree(other)
-	for i := range kept.Nodes {
-		tree := of()
-		n := tree.Nodes[i]
-		for j := range n.Keys[:cap(n.Keys)] {
-			n.Keys[:cap(n.Keys)][j] = "spoilt"
-		}
-		for j := range n.Vals[:cap(n.Vals)] {
-			n.Vals[:cap(n.Vals)][j] = 77
-		}
-		for j := range n.Kids[:cap(n.Kids)] {
-			n.Kids[:cap(n.Kids)][j] = 77
-		}
-		tree.Nodes[i] = kept.Nodes[i]
-		if !same(tree, kept) {
-			t.Fatalf("node %d of %+v shares a list with another one", i, kept)
-		}
-	}
-	tree := of()
-	for i := range tree.Nodes[:cap(tree.Nodes)] {
-		tree.Nodes[:cap(tree.Nodes)][i] = sample.Node("spoilt")
-	}
-	if !same(other, kept) || !same(of(), kept) {
-		t.Fatalf("two answers %+v share a list", kept)
-	}
-}
-
-// same trees; lists without elements may be nil or not.
-func same(a, b api.Tree) bool {
-	return slices.EqualFunc(a.Nodes, b.Nodes, func(a, b api.Node) bool {
-		return slices.Equal(a.Keys, b.Keys) && slices.Equal(a.Vals, b.Vals) && slices.Equal(a.Kids, b.Kids)
-	})
 }

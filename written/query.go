@@ -6,6 +6,7 @@ import (
 	"chirograph/api"
 	"chirograph/expr"
 	"chirograph/lex"
+	"chirograph/sample"
 )
 
 // Query of a text, which must be one: as a SELECT is written (P18.1), but without that word, and without FROM and what stands behind that.
@@ -102,4 +103,14 @@ func Queries() []string {
 		"t , x , t", "x + i , b AND TRUE , 'a' , t || 'b'", "t , t WHERE x > 1 AND ( x < 5 OR r IS NULL )", "t , x ORDER BY 1 DESC , 2", "t , 'a' ORDER BY 2 LIMIT 3", "t LIMIT 2", "x LIMIT 0",
 		"MIN ( t ) , MAX ( t ) , MAX ( t ) , COUNT ( * )", "SUM ( x + i ) , MIN ( 'a' )", "t , t , MAX ( t ) , MIN ( t ) GROUP BY t", "t , COUNT ( * ) GROUP BY t ORDER BY 2 DESC , 1 LIMIT 3", "t , t GROUP BY t ORDER BY 1",
 	}
+}
+
+// Refused queries of such columns: in one of the five rows of package sample, in a sum of them, or ahead of all rows.
+func Refused() []string {
+	return []string{"1 / ( x - 3 ) ORDER BY 1", "SUM ( 9223372036854775807 )", "x WHERE 1 / ( x - 3 ) = 0", "y", "SUM ( t ) ORDER BY 2"}
+}
+
+// Asked: a query as it is written, asked of the five rows of package sample, with spare room behind each list.
+func Asked(text string) sample.Asked {
+	return sample.Asked{Cols: sample.KeyedColumns(), Rows: sample.FiveRows(), Query: Query(text)}.Roomy()
 }
